@@ -1,0 +1,79 @@
+package wal
+
+import (
+	"strings"
+	"testing"
+
+	"daybook/api"
+	"daybook/disk"
+)
+
+func TestSectorGivesBack(t *testing.T) {
+	for _, s := range []sector{
+		{1, 0, 4, 0, 0, 0, ""},
+		{1<<64 - 1, 4092, 4096, 1, 0, 0, ""},
+		{2, 7, 100, 99, 1, 0, "x"},
+		{3, 7, 100, 2, 200, 0, strings.Repeat("y", 200)},
+		{4, 7, 100, 3, 201, 1, "\x00"},
+		{5, 7, 100, 12, 2000, 9, strings.Repeat("\xff", 200)},
+	} {
+		text := s.text()
+		if len(text) > disk.Size {
+			t.Fatalf("a sector of %d bytes", len(text))
+		}
+		if got, ok := read(text); !ok || got != s {
+			t.Errorf("%v came back as %v, %v", s, got, ok)
+		}
+	}
+}
+
+func TestReadRefuses(t *testing.T) {
+	long := sector{1, 0, 40, 2, api.MaxPayload + 1, 0, strings.Repeat("x", 200)}
+	behind := sector{1, 0, 40, 2, 200, 2, ""}
+	for _, text := range []string{"", mark, strings.Repeat("\x00", 256), long.text(), behind.text()} {
+		if s, ok := read(text); ok || s != (sector{}) {
+			t.Errorf("%q was taken for %v", text, s)
+		}
+	}
+}
+
+// forged is a log of eight sectors that has one payload, with other sectors written over it.
+func forged(t *testing.T, others map[int]sector) []string {
+	t.Helper()
+	d := disk.New(8)
+	Create(d, 0, 8)
+	l, err := Open(d, 0, 8)
+	if err != nil || l.Append([]byte("one")) != nil {
+		t.Fatal("there is no log")
+	}
+	for i, s := range others {
+		d.Write(i, s.text())
+	}
+	l, err = Open(d, 0, 8)
+	if err != nil {
+		return []string{err.Error()}
+	}
+	return l.all
+}
+
+// Whatever is on the disk: what this log has not written in its place is none of it.
+func TestForgedSectors(t *testing.T) {
+	full := strings.Repeat("x", 200)
+	for name, others := range map[string]map[int]sector{
+		"one that stands elsewhere":       {3: {1, 0, 8, 2, 3, 0, "one"}},
+		"one of a log that began later":   {3: {1, 1, 8, 3, 3, 0, "two"}},
+		"one of a greater log":            {3: {1, 0, 9, 3, 3, 0, "two"}},
+		"one of another epoch":            {3: {2, 0, 8, 3, 3, 0, "two"}},
+		"a head among the payloads":       {3: {1, 0, 8, 3, 0, 0, ""}},
+		"a second part without the first": {3: {1, 0, 8, 3, 201, 1, "x"}},
+		"a first part without the second": {3: {1, 0, 8, 3, 201, 0, full}, 4: {1, 0, 8, 4, 3, 0, "two"}},
+		"parts of two payloads":           {3: {1, 0, 8, 3, 201, 0, full}, 4: {1, 0, 8, 4, 202, 1, "xx"}},
+		"one first part twice":            {3: {1, 0, 8, 3, 400, 0, full}, 4: {1, 0, 8, 4, 400, 0, full}},
+		"one that goes beyond the end":    {3: {1, 0, 8, 3, 1200, 0, full}, 4: {1, 0, 8, 4, 1200, 1, full}, 5: {1, 0, 8, 5, 1200, 2, full}, 6: {1, 0, 8, 6, 1200, 3, full}, 7: {1, 0, 8, 7, 1200, 4, full}},
+		"a payload where a head is":       {1: {9, 0, 8, 1, 3, 0, "two"}},
+	} {
+		if all := forged(t, others); len(all) != 1 || all[0] != "one" {
+			t.Errorf("P8: %s: the log has %q, want one", name, all)
+		}
+	}
+}
