@@ -1,6 +1,7 @@
 package wal_test
 
 import (
+	"math"
 	"math/rand"
 	"slices"
 	"strconv"
@@ -91,11 +92,27 @@ func payload(word string) string {
 	return filled(name, n)
 }
 
-// run goes through a script on a disk that dies at a step, and behind it through each crash.
-func run(t *testing.T, script string, die int, behind func(what string, b *bench)) (finished bool) {
-	t.Helper()
+// newBench has no log yet, or (epoch is not 0) one that has come to this epoch, with a payload in it and behind it leftovers of all epochs near.
+func newBench(epoch uint64) *bench {
 	b := &bench{d: disk.New(22), first: 3, sectors: 16, past: past{no: true}}
+	if epoch == 0 {
+		return b
+	}
+	b.d.Write(b.first, stood(epoch, b.first, b.sectors, 0, ""))
+	b.d.Write(b.first+2, stood(epoch, b.first, b.sectors, 2, "stood"))
+	for i := 3; i < b.sectors; i++ {
+		b.d.Write(b.first+i, stood(epoch+uint64(i)-8, b.first, b.sectors, i, "left"))
+	}
 	b.d.Sync()
+	b.from = b.d.Writes()
+	b.past = past{appended: []string{"stood"}, safe: 1}
+	return b
+}
+
+// run goes through a script on a disk that dies at a step, and behind it through each crash.
+func run(t *testing.T, script string, epoch uint64, die int, behind func(what string, b *bench)) (finished bool) {
+	t.Helper()
+	b := newBench(epoch)
 	b.d.Die(die)
 	finished = true
 	for _, word := range strings.Fields(script) {
@@ -108,7 +125,7 @@ func run(t *testing.T, script string, die int, behind func(what string, b *bench
 		c := *b
 		c.d = b.d.Copy()
 		c.d.Crash(raw)
-		what := script + " that dies at " + strconv.Itoa(die)
+		what := script + " from epoch " + strconv.FormatUint(epoch, 10) + " on that dies at " + strconv.Itoa(die)
 		for _, k := range raw {
 			what += "," + strconv.Itoa(k)
 		}
@@ -143,13 +160,15 @@ const (
 	reopenScript = "create open +one*600 open +two open +three reset open +four +five*400"
 )
 
-// everyScript runs each script with the disk dying at each step, and never.
+// everyScript runs each script with the disk dying at each step, and never; on a disk without a log, and where the epochs go round or past the half.
 func everyScript(t *testing.T, behind func(what string, b *bench)) {
 	t.Helper()
 	for _, script := range []string{plainScript, resetScript, createScript, reopenScript} {
-		for die := 1; ; die++ {
-			if run(t, script, die, behind) {
-				break
+		for _, epoch := range []uint64{0, math.MaxUint64, math.MaxInt64} {
+			for die := 1; ; die++ {
+				if run(t, script, epoch, die, behind) {
+					break
+				}
 			}
 		}
 	}
@@ -163,7 +182,7 @@ func TestCrashAtEachStep(t *testing.T) {
 func TestCrashOfManySectors(t *testing.T) {
 	script := "create open +one*200 sync +two*2000 +three +four*201"
 	for die := 1; ; die++ {
-		if run(t, script, die, func(what string, b *bench) { b.reopen(t, what) }) {
+		if run(t, script, 0, die, func(what string, b *bench) { b.reopen(t, what) }) {
 			return
 		}
 	}

@@ -6,6 +6,8 @@ import (
 	"testing"
 
 	"daybook/disk"
+	"daybook/numbers"
+	"daybook/sums"
 	"daybook/wal"
 )
 
@@ -115,4 +117,16 @@ func someWays(sectors int) [][]int {
 		}
 	}
 	return list
+}
+
+// stood is the text of a sector that tells an epoch and where it stands: a head, if there is no payload, else one of at most 200 bytes.
+func stood(epoch uint64, first, sectors, at int, payload string) string {
+	b := numbers.Append([]byte("log"), epoch, 8)
+	for _, n := range []int{first, sectors, at} {
+		b = numbers.Append(b, uint64(n), 4)
+	}
+	b = numbers.Append(b, uint64(len(payload)), 2)
+	b = append(append(b, 0), payload...)
+	b = append(b, make([]byte, 226-len(b))...)
+	return string(numbers.Append(b, uint64(sums.Check(b)), 4))
 }

@@ -1,6 +1,8 @@
 package wal
 
 import (
+	"slices"
+
 	"daybook/api"
 	"daybook/area"
 	"daybook/disk"
@@ -21,7 +23,7 @@ const (
 // An epoch is what lies between two times that the log was made empty: parts of another epoch than the head's are gone without being touched.
 // Each tells whose it is and where it stands, so that what another log has left is not taken for this one's.
 type sector struct {
-	epoch              uint64 // from 1 on
+	epoch              uint64 // 0: none
 	first, sectors, at int
 	length             int // of the whole payload
 	part               int
@@ -83,20 +85,26 @@ func survey(place area.Area) []sector {
 	return found
 }
 
-// newest is the greatest epoch that any sector tells of.
-func newest(found []sector) uint64 {
-	most := uint64(0)
-	for _, s := range found {
-		most = max(most, s.epoch)
+// after is the epoch behind another. They go round, past 0, which is none: whatever number stood on the disk, there is one behind it.
+func after(epoch uint64) uint64 { return max(epoch+1, 1) }
+
+// newer tells whether an epoch is behind another, by less than half a round.
+func newer(epoch, other uint64) bool { return int64(epoch-other) > 0 }
+
+// untold is the next epoch behind another that no sector tells of: there is nothing in it yet.
+func untold(found []sector, epoch uint64) uint64 {
+	next := after(epoch)
+	for slices.ContainsFunc(found, func(s sector) bool { return s.epoch == next }) {
+		next = after(next)
 	}
-	return most
+	return next
 }
 
 // newerHead is which of the first sectors is the newer head; false: neither is one.
 func newerHead(found []sector) (int, bool) {
 	at, ok := 0, false
 	for i, s := range found[:heads] {
-		if s.epoch > 0 && s.length == 0 && (!ok || s.epoch > found[at].epoch) {
+		if s.epoch > 0 && s.length == 0 && (!ok || newer(s.epoch, found[at].epoch)) {
 			at, ok = i, true
 		}
 	}

@@ -1,6 +1,7 @@
 package wal
 
 import (
+	"math"
 	"strings"
 	"testing"
 
@@ -33,6 +34,23 @@ func TestReadRefuses(t *testing.T) {
 	for _, text := range []string{"", mark, strings.Repeat("\x00", 256), long.text(), behind.text()} {
 		if s, ok := read(text); ok || s != (sector{}) {
 			t.Errorf("%q was taken for %v", text, s)
+		}
+	}
+}
+
+func TestEpochsGoRound(t *testing.T) {
+	const most = math.MaxUint64
+	for _, c := range [][2]uint64{{0, 1}, {1, 2}, {math.MaxInt64, 1 << 63}, {most - 1, most}, {most, 1}} {
+		if got := after(c[0]); got != c[1] {
+			t.Errorf("behind the epoch %d comes %d, want %d", c[0], got, c[1])
+		}
+		if !newer(c[1], c[0]) || newer(c[0], c[1]) || newer(c[0], c[0]) {
+			t.Errorf("of the epochs %d and %d the other one is newer", c[0], c[1])
+		}
+	}
+	for _, c := range []struct{ behind, want uint64 }{{0, 2}, {2, 3}, {4, 6}, {most - 2, most - 1}, {most - 1, 2}, {most, 2}} {
+		if got := untold([]sector{{epoch: 5}, {}, {epoch: most}, {epoch: 1}}, c.behind); got != c.want {
+			t.Errorf("behind the epoch %d the first that nobody tells of is %d, want %d", c.behind, got, c.want)
 		}
 	}
 }
