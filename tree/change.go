@@ -33,14 +33,22 @@ func (t *Tree) change(where aim, to edit) (err error) {
 			err = api.ErrDisk
 		}
 	}()
+	down, err := t.path(where)
+	if err != nil {
+		return err
+	}
+	at, there := down.leaf.search(where)
+	l, err := to(down.leaf, at, there)
+	if err != nil {
+		return err
+	}
 	if t.room == nil {
 		if t.room, err = t.survey(); err != nil {
-			t.room = nil
 			return err
 		}
 	}
 	d := &draft{tree: t, room: slices.Clone(t.room)}
-	root, err := d.work(where, to)
+	root, err := d.replace(down, l)
 	if err != nil {
 		return err
 	}
@@ -51,11 +59,18 @@ func (t *Tree) change(where aim, to edit) (err error) {
 	return nil
 }
 
-// work is the root behind the change.
-func (d *draft) work(where aim, to edit) (link, error) {
-	parts, err := d.replace(d.tree.top(), where, to)
-	if err != nil {
-		return link{}, err
+// replace lays another leaf in the stead of the one that a path leads to; it answers the root behind that.
+// All pages of the path are taken away ahead of what comes in their stead: so the room that the change needs is no more than what it has in the end.
+func (d *draft) replace(down path, l leaf) (root link, err error) {
+	d.room.drop(down.last.at)
+	for _, s := range down.steps {
+		d.room.drop(s.here.at)
+	}
+	parts := cut(l)
+	for _, s := range slices.Backward(down.steps) {
+		if parts, err = d.mend(s, parts); err != nil {
+			return link{}, err
+		}
 	}
 	for len(parts) > 1 {
 		children, err := d.keepAll(parts, "")
@@ -70,60 +85,30 @@ func (d *draft) work(where aim, to edit) (link, error) {
 	return d.keep(parts[0])
 }
 
-// replace is what stands in a page's stead, in order, when the leaf below it is edited. It takes the page away ahead of all that comes: so the room that the change needs is what it has in the end.
-func (d *draft) replace(w way, where aim, to edit) ([]page, error) {
-	p, err := d.remove(w)
-	switch p := p.(type) {
-	case leaf:
-		at, there := p.search(where)
-		l, err := to(p, at, there)
-		if err != nil {
-			return nil, err
-		}
-		return cut(l), nil
-	case inner:
-		at := p.search(where)
-		parts, err := d.replace(p.way(at, w), where, to)
-		if err != nil {
-			return nil, err
-		}
-		return d.mend(p, w, at, parts)
-	}
-	return nil, err
-}
-
-// mend is what stands in an inner page's stead, when these parts stand in the stead of one of its children.
-func (d *draft) mend(n inner, here way, at int, parts []page) ([]page, error) {
-	from, to := at, at+1
+// mend is what stands in the stead of an inner page, in order, when these parts stand in the stead of the child to which the path leads.
+func (d *draft) mend(s step, parts []page) ([]page, error) {
+	from, to := s.at, s.at+1
 	if len(parts) == 1 && bytesOf(parts[0]) < parts[0].least() {
-		beside := at + 1
-		if beside == n.count() {
-			beside = at - 1
+		beside := s.at + 1
+		if beside == s.count() {
+			beside = s.at - 1
 		}
-		other, err := d.remove(n.way(beside, here))
+		other, err := d.tree.read(s.below(beside, s.here))
 		if err != nil {
 			return nil, err
 		}
-		if beside > at {
+		d.room.drop(s.children[beside].at)
+		if beside > s.at {
 			to, parts = beside+1, cut(joined(parts[0], other))
 		} else {
 			from, parts = beside, cut(joined(other, parts[0]))
 		}
 	}
-	children, err := d.keepAll(parts, n.children[from].low)
+	children, err := d.keepAll(parts, s.children[from].low)
 	if err != nil {
 		return nil, err
 	}
-	return cut(inner{n.above, slices.Concat(n.children[:from], children, n.children[to:])}), nil
-}
-
-// remove reads a page and takes it out of the tree.
-func (d *draft) remove(w way) (page, error) {
-	p, err := d.tree.read(w)
-	if err == nil {
-		d.room.drop(w.at)
-	}
-	return p, err
+	return cut(inner{s.above, slices.Concat(s.children[:from], children, s.children[to:])}), nil
 }
 
 // keep gives a page a sector.

@@ -110,3 +110,28 @@ func TestDiskThatIsToDie(t *testing.T) {
 		}
 	}
 }
+
+// ErrFull is told ahead of the first step that changes something: a disk that would fail then has not failed.
+func TestFullOnADiskThatIsToDie(t *testing.T) {
+	d, x := fresh(t, 30)
+	all := pairs{}
+	for i := 0; ; i++ {
+		k := strconv.Itoa(i)
+		if err := x.Put([]byte(k), make([]byte, 100)); err != nil {
+			break
+		}
+		all[k] = string(make([]byte, 100))
+	}
+	done(t, "P11: Save", x.Save())
+	writes := d.Writes()
+	d.Die(1)
+	for range 3 {
+		if err := x.Put([]byte("one more"), make([]byte, 100)); err != api.ErrFull {
+			t.Errorf("P10: Put into a full tree on a disk that is to die: %v, want ErrFull", err)
+		}
+		has(t, "P1: behind ErrFull", x, all)
+	}
+	if d.Writes() != writes {
+		t.Error("P1: ErrFull was answered, and something was written")
+	}
+}

@@ -1,6 +1,10 @@
 package tree
 
 import (
+	"math/rand"
+	"slices"
+	"strconv"
+	"strings"
 	"testing"
 
 	"daybook/api"
@@ -39,7 +43,8 @@ func (f *forger) tree(t *testing.T, root link) *Tree {
 
 // forged are roots of trees that no tree has written, though all checks are right.
 func forged() map[string]func(f *forger) link {
-	two := leaf{{"m", "1"}, {"n", "2"}}
+	long := strings.Repeat("v", 50) // so that no change needs the leaf's neighbour
+	two := leaf{{"m", long}, {"n", long}}
 	of := func(above int, children ...child) page { return inner{above, children} }
 	return map[string]func(f *forger) link{
 		"one leaf twice": func(f *forger) link {
@@ -110,8 +115,8 @@ func TestNoChangeWhereTheRoomIsNotKnown(t *testing.T) {
 			if err := x.Put([]byte(k), nil); err != api.ErrForm {
 				t.Errorf("P10: %s: Put(%q): %v, want ErrForm", name, k, err)
 			}
-			if err := x.Delete([]byte(k)); err != api.ErrForm {
-				t.Errorf("P10: %s: Delete(%q): %v, want ErrForm", name, k, err)
+			if err := x.Delete([]byte(k)); err != api.ErrForm && err != api.ErrNone {
+				t.Errorf("P10: %s: Delete(%q): %v, want ErrForm or ErrNone", name, k, err)
 			}
 		}
 		if d.Writes() != writes {
@@ -150,5 +155,71 @@ func TestForgedPages(t *testing.T) {
 		if x, err := Open(d, 0, 60); err != nil || x.Put([]byte("k"), nil) != nil {
 			t.Errorf("P9: %s: a new tree over it cannot be used: %v", name, err)
 		}
+	}
+}
+
+// altered writes a tree's pages anew, each altered, and answers the link to this one; all checks are right.
+func (f *forger) altered(t *testing.T, x *Tree, w way, alter func(text []byte)) link {
+	t.Helper()
+	p, err := x.read(w)
+	if err != nil {
+		t.Fatal(err)
+	}
+	if n, ok := p.(inner); ok {
+		children := slices.Clone(n.children)
+		for i := range children {
+			children[i].link = f.altered(t, x, n.below(i, w), alter)
+		}
+		p = inner{n.above, children}
+	}
+	text := []byte(p.text())
+	alter(text)
+	f.d.Write(f.next, string(text))
+	f.next++
+	return link{f.next - 1, sums.Check(text)}
+}
+
+// wantAnEnd uses a tree of which nothing is known: no call panics, and each ends with an answer that it may give.
+func wantAnEnd(t *testing.T, what string, x *Tree, r *rand.Rand) {
+	t.Helper()
+	for range 25 {
+		key := []byte("key " + strconv.Itoa(r.Intn(70)))
+		errs := []error{x.Put(key, make([]byte, r.Intn(101))), x.Delete([]byte("key " + strconv.Itoa(r.Intn(70))))}
+		_, err := x.Get(key)
+		found, e := x.Scan(key[:r.Intn(len(key))], r.Intn(80))
+		for i := 1; i < len(found); i++ {
+			if string(found[i-1].Key) >= string(found[i].Key) {
+				t.Errorf("P10: %s: Scan tells keys that do not rise", what)
+			}
+		}
+		for _, err := range append(errs, err, e, x.Save()) {
+			if err != nil && err != api.ErrForm && err != api.ErrNone && err != api.ErrFull {
+				t.Errorf("P10: %s: %v", what, err)
+			}
+		}
+	}
+}
+
+// Any bytes of pages turned, by a rule that is the same each time, where no check tells it.
+func TestForgedBytes(t *testing.T) {
+	d, x := made(t, 120)
+	for i := range 60 {
+		if err := x.Put([]byte("key "+strconv.Itoa(i)), make([]byte, 20+i%7)); err != nil {
+			t.Fatal(err)
+		}
+	}
+	if err := x.Save(); err != nil {
+		t.Fatal(err)
+	}
+	for seed := range 700 {
+		r := rand.New(rand.NewSource(int64(seed)))
+		rarely := 2 + r.Intn(12)
+		f := &forger{d.Copy(), 60}
+		root := f.altered(t, x, x.top(), func(text []byte) {
+			for r.Intn(rarely) == 0 {
+				text[r.Intn(1+r.Intn(len(text)))] = byte(r.Intn(1 << r.Intn(9)))
+			}
+		})
+		wantAnEnd(t, "seed "+strconv.Itoa(seed), f.tree(t, root), r)
 	}
 }

@@ -73,14 +73,16 @@ func newestHead(place area.Area) (head, error) {
 	return head{}, api.ErrForm
 }
 
-// headAhead is the head behind which a new tree's comes: the newest, if a tree is there. Else it is one that still leads to something, if there is such a head, or just one to begin with.
+// headAhead is the head behind which a new tree's comes: the newest, if a tree is there.
+// Else a single head may be left of a tree that is no more: it is wiped, so that it is not taken for a tree's while the new ones are written beside it.
 func headAhead(place area.Area) head {
 	if h, err := newestHead(place); err == nil {
 		return h
 	}
 	for slot := range heads {
-		if h, is := headAt(place, slot); is == right {
-			return h
+		if _, is := headAt(place, slot); is == right {
+			place.Write(slot, "")
+			place.Sync()
 		}
 	}
 	return head{slot: heads - 1}

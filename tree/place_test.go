@@ -221,6 +221,38 @@ func TestCreateOverGreatNumbers(t *testing.T) {
 	}
 }
 
+// A head that is left of a tree that is no more does not come back when the disk dies in Create.
+func TestCreateThatDiesOverOneHead(t *testing.T) {
+	for slot := range 2 {
+		for _, great := range greats() {
+			d := disk.New(20)
+			d.Write(2+slot, headText(2, 18, slot, great, 3, 77))
+			d.Write(3-slot, "something else")
+			d.Sync()
+			for die := 1; ; die++ {
+				c := d.Copy()
+				c.Die(die)
+				err := tree.Create(c, 2, 18)
+				for _, raw := range ways(2) {
+					e := c.Copy()
+					e.Crash(raw)
+					x, err := tree.Open(e, 2, 18)
+					if err == nil {
+						has(t, "P9: behind a Create that died", x, nil)
+					} else if err != api.ErrForm {
+						t.Errorf("P9: Open behind a Create that died: %v", err)
+					}
+					done(t, "P9: Create", tree.Create(e, 2, 18))
+					has(t, "P9: Create again", opened(t, e, 2, 18), nil)
+				}
+				if err == nil {
+					break
+				}
+			}
+		}
+	}
+}
+
 // A tree goes on whatever number its heads have come to.
 func TestSaveOfAGreatNumber(t *testing.T) {
 	for _, great := range greats() {
@@ -358,7 +390,7 @@ func TestOpenGivesWhatWasSavedLast(t *testing.T) {
 		has(t, "P9: opened", opened(t, d, 0, 64), saved)
 		has(t, "P9: opened on a copy", opened(t, d.Copy(), 0, 64), saved)
 		now := some(round*5%23, 10+round)
-		for k := range scanned(t, x) {
+		for _, k := range scanned(t, x).keys() {
 			done(t, "P10: Delete", x.Delete([]byte(k)))
 		}
 		put(t, x, now)

@@ -22,7 +22,10 @@ func (t *Tree) survey() (room, error) {
 	for i := range emptyAt + 1 {
 		r[i] = fixed
 	}
-	return r, t.mark(r, t.top())
+	if err := t.mark(r, t.top()); err != nil {
+		return nil, err
+	}
+	return r, nil
 }
 
 // mark marks a page and all below it; ErrForm, if it is led to twice.
@@ -37,7 +40,7 @@ func (t *Tree) mark(r room, w way) error {
 	p, err := t.read(w)
 	if n, ok := p.(inner); ok {
 		for i := range n.children {
-			if err := t.mark(r, n.way(i, w)); err != nil {
+			if err := t.mark(r, n.below(i, w)); err != nil {
 				return err
 			}
 		}

@@ -41,7 +41,7 @@ func wantShape(t *testing.T, x *Tree, w way, used []int) {
 			t.Fatalf("a page of level %d has %d children", n.above, n.count())
 		}
 		for i := range n.children {
-			wantShape(t, x, n.way(i, w), used)
+			wantShape(t, x, n.below(i, w), used)
 		}
 	}
 }

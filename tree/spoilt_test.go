@@ -31,7 +31,7 @@ func saved(t *testing.T) (d, was *disk.Disk) {
 	put(t, x, old())
 	done(t, "P11: Save", x.Save())
 	was = d.Copy()
-	for k := range old() {
+	for _, k := range old().keys() {
 		if _, there := now()[k]; !there {
 			done(t, "P10: Delete", x.Delete([]byte(k)))
 		}
@@ -100,7 +100,7 @@ func change(t *testing.T, what string, x *tree.Tree, all pairs) (harmed bool) {
 // wantHarm: of all that was tried, enough did harm for the test to say something.
 func wantHarm(t *testing.T, harms map[int]bool) {
 	t.Helper()
-	if len(harms) < 8 {
+	if len(harms) < 6 {
 		t.Errorf("it made a difference in the sectors %v only", slices.Sorted(maps.Keys(harms)))
 	}
 }
@@ -208,6 +208,9 @@ func TestSpoiltElsewhere(t *testing.T) {
 		c.Spoil(i, 9, 1)
 		x := opened(t, c, 0, spoiltSectors)
 		if _, err := x.Get([]byte(first)); err == nil {
+			if found, err := x.Scan(nil, 1); err != nil || len(found) != 1 {
+				t.Errorf("P10: sector %d spoilt: Scan of the first pair tells %d pairs, %v", i, len(found), err)
+			}
 			continue
 		}
 		harmed++
@@ -215,8 +218,15 @@ func TestSpoiltElsewhere(t *testing.T) {
 		if _, e := x.Get([]byte(last)); e != err {
 			t.Errorf("P10: sector %d spoilt: Get: %v, Scan from there on: %v", i, e, err)
 		}
-		if err == nil && len(found) == 1 {
-			unharmed++
+		if err != nil {
+			continue
+		}
+		unharmed++
+		if len(found) != 1 {
+			t.Errorf("P10: sector %d spoilt: Scan from the last key on tells %d pairs", i, len(found))
+		}
+		if err := x.Delete([]byte(last + "x")); err != api.ErrNone { // it is named ahead of ErrForm
+			t.Errorf("P10: sector %d spoilt: Delete of none: %v, want ErrNone", i, err)
 		}
 	}
 	if harmed < 2 || unharmed < 1 {

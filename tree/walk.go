@@ -18,8 +18,8 @@ type way struct {
 // top is the way to the root.
 func (t *Tree) top() way { return way{link: t.root, level: anyLevel} }
 
-// way is the one to a child, if this one leads to its page.
-func (n inner) way(i int, here way) way {
+// below is the way to a child of a page, by the way to that.
+func (n inner) below(i int, here way) way {
 	next := way{n.children[i].link, n.above - 1, n.children[i].low, here.high}
 	if i+1 < len(n.children) {
 		next.high = n.children[i+1].low
@@ -63,19 +63,36 @@ func (t *Tree) read(w way) (page, error) {
 	return p, nil
 }
 
-// find is the value of the key that is aimed at.
-func (t *Tree) find(w way, where aim) (string, error) {
-	p, err := t.read(w)
-	switch p := p.(type) {
-	case leaf:
-		if at, there := p.search(where); there {
-			return p[at].value, nil
+// step is one on a path: an inner page, the way to it, and which of its children comes next.
+type step struct {
+	inner
+	here way
+	at   int
+}
+
+// path leads from the root down to the leaf that is aimed at.
+type path struct {
+	steps []step
+	leaf  leaf
+	last  way // to the leaf
+}
+
+func (t *Tree) path(where aim) (path, error) {
+	down := path{last: t.top()}
+	for {
+		p, err := t.read(down.last)
+		switch p := p.(type) {
+		case leaf:
+			down.leaf = p
+			return down, nil
+		case inner:
+			at := p.search(where)
+			down.steps = append(down.steps, step{p, down.last, at})
+			down.last = p.below(at, down.last)
+		default:
+			return path{}, err
 		}
-		return "", api.ErrNone
-	case inner:
-		return t.find(p.way(p.search(where), w), where)
 	}
-	return "", err
 }
 
 // visit shows the pairs from the aim on, in order, as long as show asks for more; it tells whether it still does.
@@ -92,7 +109,7 @@ func (t *Tree) visit(w way, where aim, show func(pair) bool) (more bool, err err
 		return true, nil
 	case inner:
 		for i := p.search(where); i < p.count(); i++ {
-			if more, err = t.visit(p.way(i, w), where, show); !more || err != nil {
+			if more, err = t.visit(p.below(i, w), where, show); !more || err != nil {
 				return false, err
 			}
 		}
