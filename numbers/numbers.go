@@ -1,4 +1,4 @@
-// Package numbers: numbers as bytes, the highest byte first.
+// Package numbers: numbers as bytes, the highest byte first, and texts made of them.
 package numbers
 
 // Append lays a number behind a text, in so many bytes.

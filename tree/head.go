@@ -51,9 +51,9 @@ func headAt(place area.Area, slot int) (head, state) {
 	if !ok {
 		return head{}, broken
 	}
-	r := &reader{rest: text}
-	r.bytes(len(mark) + 4 + 4 + 1)
-	h := head{slot, numbers.Read(r.bytes(8)), r.link()}
+	r := &numbers.Reader{Rest: text}
+	r.Bytes(len(mark) + 4 + 4 + 1)
+	h := head{slot, numbers.Read(r.Bytes(8)), readLink(r)}
 	if h.text(place) != text {
 		return head{}, wrong
 	}

@@ -48,8 +48,8 @@ func (l leaf) part(from, to int) page { return l[from:to] }
 func (l leaf) text() string {
 	b := []byte{0, byte(len(l))}
 	for _, x := range l {
-		b = appendText(b, x.key)
-		b = appendText(b, x.value)
+		b = numbers.AppendText(b, x.key)
+		b = numbers.AppendText(b, x.value)
 	}
 	return filled(b)
 }
@@ -88,7 +88,7 @@ func (n inner) part(from, to int) page { return inner{n.above, n.children[from:t
 func (n inner) text() string {
 	b := []byte{byte(n.above), byte(len(n.children))}
 	for _, c := range n.children {
-		b = appendLink(appendText(b, c.low), c.link)
+		b = appendLink(numbers.AppendText(b, c.low), c.link)
 	}
 	return filled(b)
 }
@@ -99,9 +99,6 @@ func (n inner) search(where aim) int {
 	return max(behind-1, 0)
 }
 
-// appendText lays a text behind others, its length ahead of it.
-func appendText(b []byte, text string) []byte { return append(append(b, byte(len(text))), text...) }
-
 func appendLink(b []byte, l link) []byte {
 	return numbers.Append(numbers.Append(b, uint64(l.at), 2), uint64(l.check), 4)
 }
@@ -109,59 +106,31 @@ func appendLink(b []byte, l link) []byte {
 // filled is a text with noughts behind, as long as a sector.
 func filled(b []byte) string { return string(append(b, make([]byte, disk.Size-len(b))...)) }
 
-// reader takes a text apart, from its beginning on.
-type reader struct {
-	rest  string
-	wrong bool // it is not as it was asked for
-}
-
-func (r *reader) bytes(n int) string {
-	if n > len(r.rest) {
-		r.wrong = true
-		return ""
-	}
-	taken := r.rest[:n]
-	r.rest = r.rest[n:]
-	return taken
-}
-
-func (r *reader) number(size int) int { return int(numbers.Read(r.bytes(size))) }
-
-// text is one that stands behind its length.
-func (r *reader) text(least, most int) string {
-	n := r.number(1)
-	if n < least || n > most {
-		r.wrong = true
-		return ""
-	}
-	return r.bytes(n)
-}
-
-func (r *reader) link() link { return link{r.number(2), uint32(r.number(4))} }
+func readLink(r *numbers.Reader) link { return link{r.Number(2), uint32(r.Number(4))} }
 
 // parse takes a sector's text apart; false: it is no page's.
 func parse(text string) (page, bool) {
-	r := &reader{rest: text}
-	p := r.page()
-	if r.wrong || p.text() != text {
+	r := &numbers.Reader{Rest: text}
+	p := readPage(r)
+	if r.Wrong || p.text() != text {
 		return nil, false
 	}
 	return p, true
 }
 
-func (r *reader) page() page {
-	above, many := r.number(1), r.number(1)
+func readPage(r *numbers.Reader) page {
+	above, many := r.Number(1), r.Number(1)
 	if above == 0 {
 		l := make(leaf, many)
 		for i := range l {
-			l[i] = pair{r.text(1, api.MaxKey), r.text(0, api.MaxValue)}
+			l[i] = pair{r.Text(1, api.MaxKey), r.Text(0, api.MaxValue)}
 		}
 		return l
 	}
 	n := inner{above, make([]child, many)}
 	for i := range n.children {
-		n.children[i] = child{r.text(0, api.MaxKey), r.link()}
+		n.children[i] = child{r.Text(0, api.MaxKey), readLink(r)}
 	}
-	r.wrong = r.wrong || many < 2 || above > mostAbove
+	r.Wrong = r.Wrong || many < 2 || above > mostAbove
 	return n
 }

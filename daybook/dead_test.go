@@ -1,0 +1,162 @@
+package daybook_test
+
+import (
+	"errors"
+	"testing"
+
+	"daybook/api"
+	"daybook/daybook"
+)
+
+// question is a call of a database whose answer is told as an error and whether the other result is its zero value.
+type question struct {
+	name string
+	ask  func(b *daybook.DB) (error, bool)
+}
+
+func only(ask func(b *daybook.DB) error) func(b *daybook.DB) (error, bool) {
+	return func(b *daybook.DB) (error, bool) { return ask(b), true }
+}
+
+// questions are all methods, with what is right and with what is wrong.
+func questions() []question {
+	return []question{
+		{"Begin", only(func(b *daybook.DB) error { return b.Begin(1) })},
+		{"Create", only(func(b *daybook.DB) error { return b.Create("fresh", kv()) })},
+		{"Create of no name", only(func(b *daybook.DB) error { return b.Create("", nil) })},
+		{"Insert", only(func(b *daybook.DB) error { return b.Insert("t", row(num(1), txt("a"))) })},
+		{"Insert into no table", only(func(b *daybook.DB) error { return b.Insert("nosuch", nil) })},
+		{"Update", only(func(b *daybook.DB) error { return b.Update("t", row(num(5), txt("a"))) })},
+		{"Update of no row", only(func(b *daybook.DB) error { return b.Update("t", nil) })},
+		{"Delete", only(func(b *daybook.DB) error { return b.Delete("t", num(5)) })},
+		{"Delete of no row", only(func(b *daybook.DB) error { return b.Delete("t", txt("5")) })},
+		{"Get", func(b *daybook.DB) (error, bool) { r, err := b.Get("t", num(5)); return err, r == nil }},
+		{"Get of no row", func(b *daybook.DB) (error, bool) { r, err := b.Get("t", num(4)); return err, r == nil }},
+		{"Scan", func(b *daybook.DB) (error, bool) { l, err := b.Scan("t"); return err, l == nil }},
+		{"Scan of no table", func(b *daybook.DB) (error, bool) { l, err := b.Scan("nosuch"); return err, l == nil }},
+		{"History", func(b *daybook.DB) (error, bool) { l, err := b.History("t"); return err, l == nil }},
+		{"History of no table", func(b *daybook.DB) (error, bool) { l, err := b.History("nosuch"); return err, l == nil }},
+		{"Transaction 1", func(b *daybook.DB) (error, bool) { p, err := b.Transaction(1); return err, p == nil }},
+		{"Transaction 4", func(b *daybook.DB) (error, bool) { p, err := b.Transaction(4); return err, p == nil }},
+		{"Transaction 0", func(b *daybook.DB) (error, bool) { p, err := b.Transaction(0); return err, p == nil }},
+		{"Checkpoint", only(func(b *daybook.DB) error { return b.Checkpoint() })},
+		{"Commit", func(b *daybook.DB) (error, bool) { n, err := b.Commit(); return err, n == 0 }},
+		{"Abort", only(func(b *daybook.DB) error { return b.Abort() })},
+	}
+}
+
+// Once one method has answered ErrDisk each of them answers it first of all, also when the disk is in order again; and the disk is not touched any more.
+func TestErrDiskStays(t *testing.T) {
+	for _, first := range questions() {
+		for _, begun := range []bool{false, true} {
+			d, b := made(t, 640, short()...)
+			if begun {
+				fine(t, "P14: Begin", b.Begin(9))
+				fine(t, "P15: Delete", b.Delete("t", num(-6)))
+			}
+			d.Die(0)
+			err, zero := first.ask(b)
+			if !zero && err != nil {
+				t.Errorf("P1: %s of a dead disk tells something beside %v", first.name, err)
+			}
+			if !errors.Is(err, api.ErrDisk) {
+				continue
+			}
+			for _, dead := range []bool{true, false} {
+				if !dead {
+					d.Crash(nil)
+				}
+				writes, syncs, reads := d.Writes(), d.Syncs(), d.Reads()
+				for _, q := range questions() {
+					err, zero := q.ask(b)
+					wants(t, "P13: "+q.name+" behind ErrDisk of "+first.name, err, api.ErrDisk, "")
+					if !zero {
+						t.Errorf("P1: %s tells something beside ErrDisk", q.name)
+					}
+				}
+				if d.Writes() != writes || d.Syncs() != syncs || d.Reads() != reads {
+					t.Errorf("P13: a database that has answered ErrDisk went on")
+				}
+			}
+			is(t, "P20: behind ErrDisk of "+first.name, opened(t, d), short())
+		}
+	}
+}
+
+// On a dead disk a call that is right in all else answers ErrDisk; but what its promise names first comes first.
+func TestDeadDisk(t *testing.T) {
+	idle := map[string]api.Kind{
+		"Begin": api.ErrDisk, "Create": api.ErrOver, "Create of no name": api.ErrOver, "Insert": api.ErrOver, "Insert into no table": api.ErrOver,
+		"Update": api.ErrOver, "Update of no row": api.ErrOver, "Delete": api.ErrOver, "Delete of no row": api.ErrOver,
+		"Get": api.ErrDisk, "Get of no row": api.ErrNone, "Scan": api.ErrDisk, "Scan of no table": api.ErrTable, "History": api.ErrDisk, "History of no table": api.ErrTable,
+		"Transaction 1": api.ErrDisk, "Transaction 4": api.ErrDisk, "Transaction 0": api.ErrArg, "Checkpoint": api.ErrDisk, "Commit": api.ErrOver, "Abort": api.ErrOver,
+	}
+	begun := map[string]api.Kind{
+		"Begin": api.ErrBegun, "Create": api.ErrDisk, "Create of no name": api.ErrName, "Insert": api.ErrDisk, "Insert into no table": api.ErrTable,
+		"Update": api.ErrDisk, "Update of no row": api.ErrRow, "Delete": api.ErrDisk, "Delete of no row": api.ErrRow,
+		"Get": api.ErrDisk, "Get of no row": api.ErrNone, "Scan": api.ErrDisk, "Scan of no table": api.ErrTable, "History": api.ErrDisk, "History of no table": api.ErrTable,
+		"Transaction 1": api.ErrDisk, "Transaction 4": api.ErrDisk, "Transaction 0": api.ErrArg, "Checkpoint": api.ErrBegun, "Commit": api.ErrDisk, "Abort": 0,
+	}
+	for _, q := range questions() {
+		for i, kinds := range []map[string]api.Kind{idle, begun} {
+			d, b := made(t, 640, short()...)
+			if i == 1 {
+				fine(t, "P14: Begin", b.Begin(9))
+				fine(t, "P15: Insert", b.Insert("t", row(num(66), txt("x"))))
+			}
+			d.Die(0)
+			err, _ := q.ask(b)
+			if kind, _ := api.Told(err); kind != kinds[q.name] {
+				t.Errorf("P13: %s of a dead disk: %v, want %v", q.name, err, kinds[q.name])
+			}
+		}
+	}
+}
+
+// A transaction without an op needs no disk to be over.
+func TestNothingToCommitOnDeadDisk(t *testing.T) {
+	d, b := made(t, 64)
+	fine(t, "P14: Begin", b.Begin(1))
+	d.Die(0)
+	if n, err := b.Commit(); n != 0 || err != nil {
+		t.Errorf("P17: Commit of no op on a dead disk = %d, %v", n, err)
+	}
+	_, err := b.Commit()
+	wants(t, "P17: Commit of nothing", err, api.ErrOver, "")
+}
+
+// The disk dies at each step of each call: ErrDisk, and nothing else.
+func TestDiesAtEachStep(t *testing.T) {
+	most := map[string]int{}
+	for _, begun := range []bool{false, true} {
+		for _, q := range questions() {
+			for step := 1; ; step++ {
+				d, b := made(t, 640, short()...)
+				if begun {
+					fine(t, "P14: Begin", b.Begin(9))
+					fine(t, "P15: Insert", b.Insert("t", row(num(66), txt("x"))))
+				}
+				d.Die(step)
+				err, _ := q.ask(b)
+				if !d.Dead() {
+					if errors.Is(err, api.ErrDisk) {
+						t.Errorf("P1: %s: ErrDisk, though the disk has not failed", q.name)
+					}
+					break
+				}
+				most[q.name] = max(most[q.name], step)
+				wants(t, "P13: "+q.name+" when the disk dies", err, api.ErrDisk, "")
+			}
+		}
+	}
+	for _, name := range []string{"Commit", "Checkpoint"} {
+		if most[name] < 2 {
+			t.Errorf("P13: %s: the disk was hardly asked", name)
+		}
+	}
+	for _, name := range []string{"Get", "Scan", "History", "Transaction 1", "Abort"} {
+		if most[name] > 0 {
+			t.Errorf("P16: %s has changed the disk", name)
+		}
+	}
+}

@@ -1,0 +1,193 @@
+// Package store: payloads of transactions on a disk, numbered from 1 on: in a log first, in a tree when the log is full.
+// The log has the first sectors of the disk, the tree all others. In both a payload stands with its number: so where a crash comes when the tree is saved and the log is not empty yet, it is seen that they have the same. And where it comes in a Create, when the tree is empty and the log is not, it is seen whether the log has all that there was, from number 1 on, or goes on behind what is no more.
+package store
+
+import (
+	"errors"
+	"math"
+
+	"daybook/api"
+	"daybook/disk"
+	"daybook/payload"
+	"daybook/tree"
+	"daybook/wal"
+)
+
+const (
+	logSectors = 2*((numberSize+payload.Greatest+199)/200) + 3 // two of the greatest entries have room, by P7
+	treeAt     = logSectors
+)
+
+// Store is what is on a disk.
+type Store struct {
+	disk  *disk.Disk
+	log   *wal.Log
+	count int // how many payloads there are
+	taken int // what their pairs take of the tree's room
+}
+
+// Create makes an empty store. If the disk dies in it, a store that was there is as it was, or empty.
+func Create(d *disk.Disk) error {
+	if !isPlace(d) {
+		return api.ErrPlace
+	}
+	if err := tree.Create(d, treeAt, treeSectors(d)); err != nil {
+		return err
+	}
+	return wal.Create(d, 0, logSectors)
+}
+
+// Open opens a store. It tells all payloads, too, in order.
+func Open(d *disk.Disk) (*Store, []string, error) {
+	if !isPlace(d) {
+		return nil, nil, api.ErrPlace
+	}
+	s := &Store{disk: d}
+	all, err := s.inTree() // ahead of the log, which writes when it is opened: where no store is, nothing is to change
+	if err != nil {
+		return nil, nil, err
+	}
+	if s.log, err = wal.Open(d, 0, logSectors); err != nil {
+		return nil, nil, err
+	}
+	if all, err = s.withLog(all); err != nil {
+		return nil, nil, err
+	}
+	for _, text := range all {
+		s.keep(text)
+	}
+	if s.taken > s.room() {
+		return nil, nil, api.ErrForm
+	}
+	return s, all, nil
+}
+
+func isPlace(d *disk.Disk) bool { return d != nil && d.Sectors() >= api.MinDisk }
+
+func treeSectors(d *disk.Disk) int { return d.Sectors() - treeAt }
+
+// room is what the pairs of all payloads may take: by P12 the tree has room for them twice, as it was saved and as it is.
+func (s *Store) room() int { return 16 * (treeSectors(s.disk) - 24) / 2 }
+
+func (s *Store) keep(text string) {
+	s.count++
+	s.taken += takes(len(text))
+}
+
+// inTree is all that the tree has.
+func (s *Store) inTree() ([]string, error) {
+	t, err := s.tree()
+	if err != nil {
+		return nil, err
+	}
+	pairs, err := t.Scan(nil, math.MaxInt)
+	if err != nil {
+		return nil, err
+	}
+	all, ok := joinAll(pairs)
+	if !ok {
+		return nil, api.ErrForm
+	}
+	return all, nil
+}
+
+// tree is the tree as it was saved last. It is opened anew each time: so a change that comes to nothing leaves no trace.
+func (s *Store) tree() (*tree.Tree, error) { return tree.Open(s.disk, treeAt, treeSectors(s.disk)) }
+
+// withLog is all that the tree has, and what the log has behind it.
+func (s *Store) withLog(all []string) ([]string, error) {
+	entries := entriesOf(s.log)
+	if len(entries) == 0 {
+		return all, nil
+	}
+	first := entries[0].number
+	if len(all) == 0 && first > 1 {
+		return nil, s.log.Reset() // what was ahead of these is no more, for a Create was under way
+	}
+	for i, e := range entries {
+		if e.number == len(all)+1 {
+			all = append(all, e.text)
+		}
+		if e.number != first+i || e.number < 1 || e.number > len(all) || all[e.number-1] != e.text {
+			return nil, api.ErrForm
+		}
+	}
+	if first+len(entries)-1 < len(all) {
+		return nil, api.ErrForm
+	}
+	return all, nil
+}
+
+// Count is how many payloads there are.
+func (s *Store) Count() int { return s.count }
+
+// HasRoom tells whether there is room for one more payload, of so many bytes.
+func (s *Store) HasRoom(length int) bool { return s.taken+takes(length) <= s.room() }
+
+// Look tells whether the store is still there.
+func (s *Store) Look() error {
+	_, err := s.tree()
+	return err
+}
+
+// Add lays a payload behind the others, and makes sure of it.
+func (s *Store) Add(text string) error {
+	e := entry{s.count + 1, text}
+	err := s.log.Append(e.bytes())
+	if errors.Is(err, api.ErrFull) {
+		if err = s.Checkpoint(); err == nil {
+			err = s.log.Append(e.bytes())
+		}
+	}
+	if err == nil {
+		err = s.log.Sync()
+	}
+	if err == nil {
+		s.keep(text)
+	}
+	return err
+}
+
+// Checkpoint lays what the log has into the tree, and empties the log.
+func (s *Store) Checkpoint() error {
+	t, err := s.tree()
+	if err != nil {
+		return err
+	}
+	for _, e := range entriesOf(s.log) {
+		for _, x := range e.pairs() {
+			if err := t.Put(x.Key, x.Value); err != nil {
+				return err
+			}
+		}
+	}
+	if err := t.Save(); err != nil {
+		return err
+	}
+	return s.log.Reset()
+}
+
+// Get tells a payload; ErrArg, if none has this number.
+func (s *Store) Get(number int) (string, error) {
+	if number < 1 || number > s.count {
+		return "", api.ErrArg
+	}
+	t, err := s.tree()
+	if err != nil {
+		return "", err
+	}
+	for _, e := range entriesOf(s.log) {
+		if e.number == number {
+			return e.text, nil
+		}
+	}
+	pairs, err := t.Scan(keyOf(number, 0), partsOf(payload.Greatest))
+	if err != nil {
+		return "", err
+	}
+	e, ok := join(number, pairs)
+	if !ok {
+		return "", api.ErrForm
+	}
+	return e.text, nil
+}
