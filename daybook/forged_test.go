@@ -13,8 +13,11 @@ import (
 	"daybook/wal"
 )
 
-// logSectors is how many sectors at the beginning of a disk the log has; the tree has the others.
+// logSectors is how many sectors at the beginning of a disk the log has.
 const logSectors = 17
+
+// treeAt is where the tree begins, behind two sectors more.
+const treeAt = 19
 
 // forgedLog is a disk whose log has these payloads, numbered from 1 on.
 func forgedLog(t *testing.T, payloads ...string) *disk.Disk {
@@ -33,7 +36,7 @@ func forgedLog(t *testing.T, payloads ...string) *disk.Disk {
 func forgedTree(t *testing.T, payloads ...string) *disk.Disk {
 	t.Helper()
 	d := formatted(t, 640)
-	x, err := tree.Open(d, logSectors, 640-logSectors)
+	x, err := tree.Open(d, treeAt, 640-treeAt)
 	fine(t, "P9: Open", err)
 	for i, p := range payloads {
 		fine(t, "P10: Put", x.Put(append(numbers.Append(nil, uint64(i+1), 4), 0), []byte(p)))
@@ -115,7 +118,7 @@ func TestForgedPayloads(t *testing.T) {
 func TestForgedWhileOpen(t *testing.T) {
 	d, b := made(t, 640, short()...)
 	fine(t, "P19: Checkpoint", b.Checkpoint())
-	x, err := tree.Open(d, logSectors, 640-logSectors)
+	x, err := tree.Open(d, treeAt, 640-treeAt)
 	fine(t, "P9: Open", err)
 	fine(t, "P10: Put", x.Put([]byte{0, 0, 0, 2, 0}, []byte("no payload")))
 	fine(t, "P10: Delete", x.Delete([]byte{0, 0, 0, 3, 0}))

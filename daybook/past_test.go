@@ -204,7 +204,7 @@ func TestCheckpointByItself(t *testing.T) {
 		is(t, "P19: a commit", b, l)
 		is(t, "P19: a commit and Open", opened(t, d.Copy()), l)
 	}
-	if least != 1 || most < 10 {
+	if least != 2 || most < 10 {
 		t.Errorf("P19: Commits wrote %d to %d sectors: none made a checkpoint, or each did", least, most)
 	}
 }

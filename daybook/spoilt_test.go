@@ -22,8 +22,8 @@ func used(t *testing.T) (*disk.Disk, *daybook.DB, ledger) {
 	return d, b, l
 }
 
-// bears: whatever stands on the disk, a database tells what its transactions made, or ErrForm. They are a beginning of those that were committed, for a log whose end cannot be read is what a crash leaves.
-func bears(t *testing.T, what string, d *disk.Disk, l ledger) {
+// bears: whatever stands on the disk, a database tells what its transactions made, or ErrForm. They are all that were committed; or (least is less) a beginning of them, where so much was written over that nothing tells of the others.
+func bears(t *testing.T, what string, d *disk.Disk, l ledger, least int) {
 	t.Helper()
 	b, err := daybook.Open(d)
 	if err != nil {
@@ -34,7 +34,7 @@ func bears(t *testing.T, what string, d *disk.Disk, l ledger) {
 		return
 	}
 	n := countOf(t, b)
-	if n > len(l) {
+	if n > len(l) || n < least {
 		t.Fatalf("P13: %s: %d transactions, of %d", what, n, len(l))
 	}
 	is(t, "P13: "+what, b, l[:n])
@@ -68,10 +68,13 @@ func TestTurnedBytes(t *testing.T) {
 			for _, by := range []int{1, 0xff} {
 				c := d.Copy()
 				c.Spoil(i, at, by)
-				if _, err := daybook.Open(c.Copy()); err != nil {
+				if _, err := daybook.Open(c); err != nil {
 					forms++
+					e := c.Copy()
+					e.Spoil(i, at, by)
+					is(t, "P1: an Open that answered ErrForm has changed something", opened(t, e), l)
 				}
-				bears(t, fmt.Sprintf("sector %d, byte %d turned by %d", i, at, by), c, l)
+				bears(t, fmt.Sprintf("sector %d, byte %d turned by %d", i, at, by), c, l, len(l))
 			}
 		}
 	}
@@ -85,7 +88,7 @@ func TestBrokenSectors(t *testing.T) {
 	for i := range d.Sectors() {
 		c := d.Copy()
 		breakSector(c, i)
-		bears(t, fmt.Sprintf("sector %d broken", i), c, l)
+		bears(t, fmt.Sprintf("sector %d broken", i), c, l, len(l))
 	}
 }
 
@@ -100,7 +103,7 @@ func TestSectorsLaidOverOthers(t *testing.T) {
 			text, _ := c.Read(j)
 			c.Write(i, text)
 			c.Sync()
-			bears(t, fmt.Sprintf("sector %d laid over %d", j, i), c, l)
+			bears(t, fmt.Sprintf("sector %d laid over %d", j, i), c, l, len(l))
 		}
 	}
 }
@@ -124,7 +127,7 @@ func TestSpoiltWhileOpen(t *testing.T) {
 				d.Write(i, text)
 			}
 			what := fmt.Sprintf("sector %d %s while it is open", i, how)
-			bears(t, what, d.Copy(), l)
+			bears(t, what, d.Copy(), l, len(l))
 			if rows, err := b.Scan("t"); err == nil && len(rows) != len(l.find("t").rows)+1 {
 				t.Fatalf("P16: %s: Scan tells %d rows", what, len(rows))
 			}
@@ -183,6 +186,32 @@ func TestCommitOfSpoilt(t *testing.T) {
 	}
 }
 
+// A database that knows less than the disk has, or more, is not the one that is there: it answers ErrForm, and what is there stays.
+func TestTwoAtOnce(t *testing.T) {
+	d, old := made(t, 640, short()...)
+	b := opened(t, d)
+	more := does(1, insert("t", num(1), txt("new")))
+	fine(t, "P14: Begin", old.Begin(2))
+	fine(t, "P15: Insert", old.Insert("t", row(num(2), txt("old"))))
+	commits(t, b, more, 5)
+	n, err := old.Commit()
+	wants(t, "P13: Commit of a database that is not there any more", err, api.ErrForm, "")
+	if n != 0 {
+		t.Errorf("P1: %d beside ErrForm", n)
+	}
+	fine(t, "P17: Abort", old.Abort())
+	for _, q := range questions() {
+		if err, _ := q.ask(old); err == nil {
+			t.Errorf("P13: %s of a database that is not there any more is answered", q.name)
+		}
+	}
+	is(t, "P13: the other one", opened(t, d), short().with(more))
+	fine(t, "P13: Format", daybook.Format(d))
+	wants(t, "P13: Begin behind Format", b.Begin(1), api.ErrForm, "")
+	wants(t, "P13: Checkpoint behind Format", b.Checkpoint(), api.ErrForm, "")
+	is(t, "P13: behind Format", opened(t, d), nil)
+}
+
 // Much is spoilt at once.
 func TestSpoiltAtRandom(t *testing.T) {
 	d, _, l := used(t)
@@ -204,6 +233,6 @@ func TestSpoiltAtRandom(t *testing.T) {
 			}
 		}
 		c.Sync()
-		bears(t, fmt.Sprintf("seed %d", seed), c, l)
+		bears(t, fmt.Sprintf("seed %d", seed), c, l, 0)
 	}
 }

@@ -1,5 +1,5 @@
 // Package store: payloads of transactions on a disk, numbered from 1 on: in a log first, in a tree when the log is full.
-// The log has the first sectors of the disk, the tree all others. In both a payload stands with its number: so where a crash comes when the tree is saved and the log is not empty yet, it is seen that they have the same. And where it comes in a Create, when the tree is empty and the log is not, it is seen whether the log has all that there was, from number 1 on, or goes on behind what is no more.
+// The log has the first sectors of the disk, then come two tallies, and the tree has all others. In log and tree a payload stands with its number: so where a crash comes when the tree is saved and the log is not empty yet, it is seen that they have the same. And where it comes in a Create, when the tree is empty and the log is not, it is seen whether the log has all that there was, from number 1 on, or goes on behind what is no more.
 package store
 
 import (
@@ -15,13 +15,15 @@ import (
 
 const (
 	logSectors = 2*((numberSize+payload.Greatest+199)/200) + 3 // two of the greatest entries have room, by P7
-	treeAt     = logSectors
+	tallyAt    = logSectors
+	treeAt     = tallyAt + tallies
 )
 
 // Store is what is on a disk.
 type Store struct {
 	disk  *disk.Disk
 	log   *wal.Log
+	tally tally
 	count int // how many payloads there are
 	taken int // what their pairs take of the tree's room
 }
@@ -31,10 +33,28 @@ func Create(d *disk.Disk) error {
 	if !isPlace(d) {
 		return api.ErrPlace
 	}
+	if err := forget(d); err != nil {
+		return err
+	}
 	if err := tree.Create(d, treeAt, treeSectors(d)); err != nil {
 		return err
 	}
 	return wal.Create(d, 0, logSectors)
+}
+
+// forget makes both tallies tell of nothing, ahead of all that there was.
+func forget(d *disk.Disk) error {
+	t, err := tallyOf(d)
+	if errors.Is(err, api.ErrDisk) {
+		return err
+	}
+	for range tallies {
+		t = t.next(0)
+		if err := t.write(d); err != nil {
+			return err
+		}
+	}
+	return nil
 }
 
 // Open opens a store. It tells all payloads, too, in order.
@@ -42,8 +62,12 @@ func Open(d *disk.Disk) (*Store, []string, error) {
 	if !isPlace(d) {
 		return nil, nil, api.ErrPlace
 	}
-	s := &Store{disk: d}
-	all, err := s.inTree() // ahead of the log, which writes when it is opened: where no store is, nothing is to change
+	t, err := tallyOf(d)
+	if err != nil {
+		return nil, nil, err
+	}
+	s := &Store{disk: d, tally: t}
+	all, err := s.inTree()
 	if err != nil {
 		return nil, nil, err
 	}
@@ -56,7 +80,7 @@ func Open(d *disk.Disk) (*Store, []string, error) {
 	for _, text := range all {
 		s.keep(text)
 	}
-	if s.taken > s.room() {
+	if s.count < t.count || s.taken > s.room() {
 		return nil, nil, api.ErrForm
 	}
 	return s, all, nil
@@ -101,7 +125,7 @@ func (s *Store) withLog(all []string) ([]string, error) {
 		return all, nil
 	}
 	first := entries[0].number
-	if len(all) == 0 && first > 1 {
+	if s.tally.count == 0 && len(all) == 0 && first > 1 {
 		return nil, s.log.Reset() // what was ahead of these is no more, for a Create was under way
 	}
 	for i, e := range entries {
@@ -124,14 +148,20 @@ func (s *Store) Count() int { return s.count }
 // HasRoom tells whether there is room for one more payload, of so many bytes.
 func (s *Store) HasRoom(length int) bool { return s.taken+takes(length) <= s.room() }
 
-// Look tells whether the store is still there.
+// Look looks whether the store is still there, as it was left; ErrForm, if somebody else has written there since.
 func (s *Store) Look() error {
-	_, err := s.tree()
+	t, err := tallyOf(s.disk)
+	if err == nil && t.count != s.tally.count {
+		err = api.ErrForm
+	}
 	return err
 }
 
 // Add lays a payload behind the others, and makes sure of it.
 func (s *Store) Add(text string) error {
+	if err := s.Look(); err != nil {
+		return err
+	}
 	e := entry{s.count + 1, text}
 	err := s.log.Append(e.bytes())
 	if errors.Is(err, api.ErrFull) {
@@ -142,14 +172,23 @@ func (s *Store) Add(text string) error {
 	if err == nil {
 		err = s.log.Sync()
 	}
-	if err == nil {
-		s.keep(text)
+	if err != nil {
+		return err
 	}
-	return err
+	t := s.tally.next(e.number)
+	if err := t.write(s.disk); err != nil {
+		return err
+	}
+	s.tally = t
+	s.keep(text)
+	return nil
 }
 
 // Checkpoint lays what the log has into the tree, and empties the log.
 func (s *Store) Checkpoint() error {
+	if err := s.Look(); err != nil {
+		return err
+	}
 	t, err := s.tree()
 	if err != nil {
 		return err

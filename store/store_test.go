@@ -87,6 +87,9 @@ func TestLayout(t *testing.T) {
 	if treeSectors(disk.New(api.MinDisk)) < api.MinTree {
 		t.Error("P13: the smallest disk has no room for a tree")
 	}
+	if tallyAt < logSectors || treeAt < tallyAt+tallies {
+		t.Error("P13: two things have one sector")
+	}
 	if partsOf(payload.Greatest) > 255 || keySize > api.MaxKey {
 		t.Error("P17: a key has no room for the number of a part")
 	}
@@ -117,6 +120,93 @@ func TestWhatStoresLeave(t *testing.T) {
 		if _, all, err = Open(d); err != nil || !slices.Equal(all, append(texts(want), "one more")) {
 			t.Errorf("P20: behind it: %d payloads, %v", len(all), err)
 		}
+	}
+}
+
+// told is a disk with these tallies ("": a sector that is broken).
+func told(t *testing.T, d *disk.Disk, texts ...string) *disk.Disk {
+	t.Helper()
+	c := d.Copy()
+	for slot, text := range texts {
+		c.Write(tallyAt+slot, text)
+		if text == "" {
+			c.Crash([]int{2})
+		}
+		c.Sync()
+	}
+	return c
+}
+
+// What a tally tells of must be there; more may be.
+func TestTallies(t *testing.T) {
+	d := forged(t, 640, inTree(numbered(1, 4)...), inLog(numbered(5, 6)...)...)
+	for _, one := range []int{0, 1, 4, 5, 6, 7, 8, 1<<32 - 1} {
+		for _, two := range []int{0, 3, 5, 6, 7, 1<<32 - 1} {
+			s, all, err := Open(told(t, d, tally{0, one}.text(), tally{1, two}.text()))
+			if max(one, two) > 6 {
+				if !errors.Is(err, api.ErrForm) || s != nil || all != nil {
+					t.Errorf("P13: tallies %d and %d of 6 payloads: %v, want ErrForm", one, two, err)
+				}
+			} else if err != nil || len(all) != 6 {
+				t.Errorf("P20: tallies %d and %d of 6 payloads: %d payloads, %v", one, two, len(all), err)
+			}
+		}
+	}
+}
+
+// A tally may be broken, for a crash may have come while it was written; the next one takes its place, so that one always stands.
+func TestBrokenTally(t *testing.T) {
+	d := forged(t, 640, inTree(numbered(1, 4)...))
+	for _, texts := range [][]string{{"", tally{1, 3}.text()}, {tally{0, 4}.text(), ""}, {"", tally{1, 4}.text()}, {tally{0, 0}.text(), ""}} {
+		c := told(t, d, texts...)
+		s, all, err := Open(c)
+		if err != nil || len(all) != 4 {
+			t.Fatalf("P20: a broken tally: %d payloads, %v", len(all), err)
+		}
+		c.Die(4) // it dies when the tally is written, and not yet safe
+		if err := s.Add("x"); !errors.Is(err, api.ErrDisk) {
+			t.Fatalf("P17: Add on a disk that dies: %v", err)
+		}
+		c.Crash([]int{2})
+		if _, all, err := Open(c); err != nil || len(all) != 5 {
+			t.Errorf("P20: behind it: %d payloads, %v", len(all), err)
+		}
+	}
+}
+
+// Tallies that no store has written are ErrForm; a Create makes good ones of them.
+func TestWrongTallies(t *testing.T) {
+	d := forged(t, 640, inTree(numbered(1, 4)...))
+	right := [2]string{tally{0, 4}.text(), tally{1, 3}.text()}
+	wrong := [][]string{{right[1], right[1]}, {right[0], right[0]}, {right[1], right[0]}, {"", ""}, {strings.Repeat("\xff", 256), right[1]}, {right[0], strings.Repeat("\x00", 256)}, {mark, mark}}
+	for at := range 256 {
+		b := []byte(right[0])
+		b[at] ^= 1
+		wrong = append(wrong, []string{string(b), right[1]})
+	}
+	for _, texts := range wrong {
+		c := told(t, d, texts...)
+		if s, all, err := Open(c); !errors.Is(err, api.ErrForm) || s != nil || all != nil {
+			t.Errorf("P13: tallies %.20q: %v, want ErrForm", texts, err)
+		}
+		if err := Create(c); err != nil {
+			t.Errorf("P13: Create over tallies %.20q: %v", texts, err)
+		}
+		if _, all, err := Open(c); err != nil || len(all) != 0 {
+			t.Errorf("P13: Open behind Create over tallies %.20q: %d payloads, %v", texts, len(all), err)
+		}
+	}
+}
+
+// A log that goes on behind nothing is not emptied, if a tally tells of what is no more: that was no Create.
+func TestLogIsNotEmptied(t *testing.T) {
+	d := told(t, forged(t, 640, nil, inLog(numbered(3, 5)...)...), tally{0, 4}.text(), tally{1, 5}.text())
+	if _, _, err := Open(d); !errors.Is(err, api.ErrForm) {
+		t.Errorf("P13: Open: %v, want ErrForm", err)
+	}
+	l, err := wal.Open(d, 0, logSectors)
+	if err != nil || len(l.All()) != 3 {
+		t.Errorf("P1: the log has %d entries, %v, want 3", len(l.All()), err)
 	}
 }
 
@@ -198,7 +288,7 @@ func TestRoomIsCounted(t *testing.T) {
 	if err != nil {
 		t.Fatal(err)
 	}
-	room := 16 * (api.MinDisk - logSectors - 24) / 2
+	room := 16 * (api.MinDisk - treeAt - 24) / 2
 	if !s.HasRoom(100) || s.HasRoom(room) {
 		t.Errorf("P17: of %d bytes of room 100 must be free", room)
 	}

@@ -258,7 +258,7 @@ func again(t *testing.T, what string, b bench, script string, die int) {
 	}
 }
 
-// A crash in an Open that wipes what was kept behind a loss changes nothing of what the log has.
+// A crash in an Open of a log that has something behind a loss changes nothing of what the log has.
 func TestCrashInOpen(t *testing.T) {
 	for die := 1; die < 9; die++ {
 		for _, raw := range ways(4) {
@@ -272,6 +272,37 @@ func TestCrashInOpen(t *testing.T) {
 			done(t, "P7: Sync", l.Sync())
 			d.Crash(nil)
 			has(t, opened(t, d, 0, 10), "one", "two", filled("three", 300))
+		}
+	}
+}
+
+// A crash in the first change behind such an Open, which wipes what stands behind the loss: nothing of it comes back.
+func TestCrashInFirstChange(t *testing.T) {
+	for die := 1; die < 12; die++ {
+		for _, raw := range ways(5) {
+			d := lost(t)
+			l := opened(t, d, 0, 10)
+			d.Die(die)
+			appended := l.Append([]byte("next")) == nil
+			safe := appended && l.Sync() == nil
+			d.Crash(raw)
+			want := []string{"one", "next"}
+			l = opened(t, d, 0, 10)
+			if len(l.All()) == 1 && !safe {
+				want = want[:1]
+			}
+			has(t, l, want...)
+
+			d = lost(t)
+			l = opened(t, d, 0, 10)
+			d.Die(die)
+			empty := l.Reset() == nil
+			d.Crash(raw)
+			if l = opened(t, d, 0, 10); empty || len(l.All()) == 0 {
+				has(t, l)
+			} else {
+				has(t, l, "one")
+			}
 		}
 	}
 }

@@ -250,14 +250,24 @@ func TestDiskDiesInOpen(t *testing.T) {
 		l, err := wal.Open(d, 0, 10)
 		if err == nil {
 			has(t, l, "one")
-			if step < 3 {
-				t.Error("P6: Open had nothing to write")
+			if step < 2 {
+				t.Error("P8: Open has made sure of nothing")
 			}
 			return
 		}
 		if err != api.ErrDisk || l != nil {
 			t.Fatalf("P6: Open on a disk that dies at step %d = %v, %v, want ErrDisk", step, l, err)
 		}
+	}
+}
+
+// Who only opens a log has changed nothing, whatever a crash has left there.
+func TestOpenWritesNothing(t *testing.T) {
+	d := lost(t)
+	writes := d.Writes()
+	has(t, opened(t, d, 0, 10), "one")
+	if d.Writes() != writes {
+		t.Errorf("P6: Open has written %d sectors", d.Writes()-writes)
 	}
 }
 
