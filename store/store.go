@@ -42,12 +42,9 @@ func Create(d *disk.Disk) error {
 	return wal.Create(d, 0, logSectors)
 }
 
-// forget makes both tallies tell of nothing, ahead of all that there was.
+// forget makes both tallies tell of nothing: a store that is no more must not be missed. As long as it is there the one that tells of most goes last, if there is one.
 func forget(d *disk.Disk) error {
-	t, err := tallyOf(d)
-	if errors.Is(err, api.ErrDisk) {
-		return err
-	}
+	t, _ := tallyOf(d)
 	for range tallies {
 		t = t.next(0)
 		if err := t.write(d); err != nil {

@@ -157,8 +157,17 @@ func TestTallies(t *testing.T) {
 // A tally may be broken, for a crash may have come while it was written; the next one takes its place, so that one always stands.
 func TestBrokenTally(t *testing.T) {
 	d := forged(t, 640, inTree(numbered(1, 4)...))
-	for _, texts := range [][]string{{"", tally{1, 3}.text()}, {tally{0, 4}.text(), ""}, {"", tally{1, 4}.text()}, {tally{0, 0}.text(), ""}} {
+	for _, texts := range [][]string{{"", tally{1, 3}.text()}, {tally{0, 4}.text(), ""}, {"", tally{1, 4}.text()}, {tally{0, 0}.text(), ""}, {"", tally{1, 0}.text()}} {
 		c := told(t, d, texts...)
+		e := c.Copy()
+		e.Die(2) // in a Create, when the first tally is written, and not yet safe
+		if err := Create(e); !errors.Is(err, api.ErrDisk) {
+			t.Fatalf("P13: Create on a disk that dies: %v", err)
+		}
+		e.Crash([]int{2})
+		if _, all, err := Open(e); err != nil || len(all) != 4 {
+			t.Errorf("P20: behind a Create that died: %d payloads, %v", len(all), err)
+		}
 		s, all, err := Open(c)
 		if err != nil || len(all) != 4 {
 			t.Fatalf("P20: a broken tally: %d payloads, %v", len(all), err)
@@ -305,6 +314,29 @@ func TestRoomIsCounted(t *testing.T) {
 	}
 	if got := takes(101) - takes(100); got != 1+keySize+8 {
 		t.Errorf("P12: one byte more, and a part more, takes %d", got)
+	}
+}
+
+// What is not as it was laid down is not told.
+func TestGetOfWhatIsForged(t *testing.T) {
+	d := forged(t, 640, inTree(numbered(1, 4)...))
+	s, _, err := Open(d)
+	if err != nil {
+		t.Fatal(err)
+	}
+	x, err := tree.Open(d, treeAt, treeSectors(d))
+	if err != nil {
+		t.Fatal(err)
+	}
+	for _, err := range []error{x.Delete(keyOf(1, 0)), x.Put(keyOf(2, 1), []byte("x")), x.Delete(keyOf(3, 0)), x.Put(keyOf(4, 0), []byte("x")), x.Save()} {
+		if err != nil {
+			t.Fatal(err)
+		}
+	}
+	for n := 1; n <= 4; n++ {
+		if text, err := s.Get(n); !errors.Is(err, api.ErrForm) || text != "" {
+			t.Errorf("P18: Get(%d) = %q, %v, want ErrForm", n, text, err)
+		}
 	}
 }
 

@@ -69,13 +69,13 @@ func TestCopy(t *testing.T) {
 	one, two := x.Copy(), x.Copy()
 	do(t, one, 2, create("u"), op(payload.Delete, "t", 1), op(payload.Insert, "t", 3, 30))
 	do(t, two, 2, op(payload.Update, "t", 2, 22), op(payload.Delete, "t", 2))
-	do(t, x, 2, op(payload.Update, "t", 1, 14))
+	do(t, x, 2, op(payload.Delete, "t", 2))
 	for _, c := range []struct {
 		of   tables.Tables
 		rows [][]api.Value
 		past []int // the second values of the rows that are no more
 	}{
-		{x, [][]api.Value{{num(1), num(14)}, {num(2), num(20)}}, []int{10, 11, 12, 13}},
+		{x, [][]api.Value{{num(1), num(13)}}, []int{10, 11, 12, 20}},
 		{one, [][]api.Value{{num(2), num(20)}, {num(3), num(30)}}, []int{10, 11, 12, 13}},
 		{two, [][]api.Value{{num(1), num(13)}}, []int{10, 11, 12, 20, 22}},
 	} {
