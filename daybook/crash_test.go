@@ -194,6 +194,39 @@ func goesOn(t *testing.T, what string, x *bench) {
 	x.settle(t, what+", and another one")
 }
 
+// The disk dies again, at each step of what is done first behind a crash.
+func TestCrashBehindCrash(t *testing.T) {
+	for _, name := range []string{"plain", "mixed"} {
+		script := scripts()[name]
+		script = script[:min(8, len(script))]
+		for die := 1; ; die++ {
+			if run(t, name, 400, script, die, func(what string, x *bench) { diesAgain(t, what, x) }) {
+				break
+			}
+		}
+	}
+}
+
+func diesAgain(t *testing.T, what string, x *bench) {
+	t.Helper()
+	x.settle(t, what)
+	for _, s := range []step{commit(does(50, create("more", kv()...))), checkpoint} {
+		for die := 1; ; die++ {
+			y := x.copy()
+			y.b = opened(t, y.d)
+			y.d.Die(die)
+			if s(y) == nil {
+				break
+			}
+			for _, raw := range ways(min(3, unsafe(y.d))) {
+				z := y.copy()
+				z.d.Crash(raw)
+				z.settle(t, what+", and again")
+			}
+		}
+	}
+}
+
 // The disk dies while a database is opened behind a crash.
 func TestCrashInOpen(t *testing.T) {
 	script := scripts()["plain"]
