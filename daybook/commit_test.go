@@ -120,6 +120,10 @@ func TestTogether(t *testing.T) {
 				b.History("t")
 				b.Transaction(1 + r)
 				b.Checkpoint()
+				b.Digest()
+				b.Prove(api.Digest{})
+				b.Verify(api.Digest{})
+				b.Attest(1+r, 0)
 			}
 		})
 	}

@@ -6,6 +6,7 @@ import (
 
 	"daybook/api"
 	"daybook/daybook"
+	"daybook/disk"
 )
 
 // question is a call of a database whose answer is told as an error and whether the other result is its zero value.
@@ -42,10 +43,46 @@ func questions() []question {
 		{"Checkpoint", only(func(b *daybook.DB) error { return b.Checkpoint() })},
 		{"Commit", func(b *daybook.DB) (error, bool) { n, err := b.Commit(); return err, n == 0 }},
 		{"Abort", only(func(b *daybook.DB) error { return b.Abort() })},
+		{"Digest", func(b *daybook.DB) (error, bool) { g, err := b.Digest(); return err, g == api.Digest{} }},
+		{"Prove", func(b *daybook.DB) (error, bool) { p, err := b.Prove(api.Digest{}); return err, p == nil }},
+		{"Verify", only(func(b *daybook.DB) error { return b.Verify(api.Digest{}) })},
+		{"Attest", func(b *daybook.DB) (error, bool) { e, err := b.Attest(1, 0); return err, e == nil }},
 	}
 }
 
-// Once one method has answered ErrDisk each of them answers it first of all, also when the disk is in order again; and the disk is not touched any more.
+// wrongOfChain are the methods of the chain with what is wrong for any database.
+func wrongOfChain() []question {
+	wrong := api.Digest{Blocks: -1, Hash: api.Hash{1}}
+	return []question{
+		{"Prove of a wrong digest", func(b *daybook.DB) (error, bool) { p, err := b.Prove(wrong); return err, p == nil }},
+		{"Verify of a wrong digest", only(func(b *daybook.DB) error { return b.Verify(wrong) })},
+		{"Attest of no transaction", func(b *daybook.DB) (error, bool) { e, err := b.Attest(0, 0); return err, e == nil }},
+		{"Attest of no op", func(b *daybook.DB) (error, bool) { e, err := b.Attest(1, -1); return err, e == nil }},
+	}
+}
+
+// isOver: each method of a database on a dead disk answers ErrDisk, whatever it is asked, also when the disk is in order again; and the disk is not touched any more.
+func isOver(t *testing.T, when string, d *disk.Disk, b *daybook.DB) {
+	t.Helper()
+	for _, dead := range []bool{true, false} {
+		if !dead {
+			d.Crash(nil)
+		}
+		writes, syncs, reads := d.Writes(), d.Syncs(), d.Reads()
+		for _, q := range append(questions(), wrongOfChain()...) {
+			err, zero := q.ask(b)
+			wants(t, "P13: "+q.name+" "+when, err, api.ErrDisk, "")
+			if !zero {
+				t.Errorf("P1: %s tells something beside ErrDisk", q.name)
+			}
+		}
+		if d.Writes() != writes || d.Syncs() != syncs || d.Reads() != reads {
+			t.Errorf("P13: a database that has answered ErrDisk went on, %s", when)
+		}
+	}
+}
+
+// Once one method has answered ErrDisk each of them answers it first of all.
 func TestErrDiskStays(t *testing.T) {
 	for _, first := range questions() {
 		for _, begun := range []bool{false, true} {
@@ -62,23 +99,27 @@ func TestErrDiskStays(t *testing.T) {
 			if !errors.Is(err, api.ErrDisk) {
 				continue
 			}
-			for _, dead := range []bool{true, false} {
-				if !dead {
-					d.Crash(nil)
-				}
-				writes, syncs, reads := d.Writes(), d.Syncs(), d.Reads()
-				for _, q := range questions() {
-					err, zero := q.ask(b)
-					wants(t, "P13: "+q.name+" behind ErrDisk of "+first.name, err, api.ErrDisk, "")
-					if !zero {
-						t.Errorf("P1: %s tells something beside ErrDisk", q.name)
-					}
-				}
-				if d.Writes() != writes || d.Syncs() != syncs || d.Reads() != reads {
-					t.Errorf("P13: a database that has answered ErrDisk went on")
-				}
-			}
+			isOver(t, "behind ErrDisk of "+first.name, d, b)
 			is(t, "P20: behind ErrDisk of "+first.name, opened(t, d), short())
+		}
+	}
+}
+
+// The same, at whatever step of a Commit or a Checkpoint the disk died.
+func TestErrDiskStaysBehindEachStep(t *testing.T) {
+	ends := map[string]func(b *daybook.DB) error{
+		"Commit":     func(b *daybook.DB) error { _, err := try(b, does(1, insert("t", num(66), txt("x")))); return err },
+		"Checkpoint": func(b *daybook.DB) error { return b.Checkpoint() },
+	}
+	for name, end := range ends {
+		for step := 1; ; step++ {
+			d, b := made(t, 640, short()...)
+			d.Die(step)
+			if err := end(b); !d.Dead() {
+				fine(t, "P17: "+name, err)
+				break
+			}
+			isOver(t, "behind a "+name+" that the disk's death ended", d, b)
 		}
 	}
 }
@@ -90,12 +131,14 @@ func TestDeadDisk(t *testing.T) {
 		"Update": api.ErrOver, "Update of no row": api.ErrOver, "Delete": api.ErrOver, "Delete of no row": api.ErrOver,
 		"Get": api.ErrDisk, "Get of no row": api.ErrNone, "Scan": api.ErrDisk, "Scan of no table": api.ErrTable, "History": api.ErrDisk, "History of no table": api.ErrTable,
 		"Transaction 1": api.ErrDisk, "Transaction 4": api.ErrDisk, "Transaction 0": api.ErrArg, "Checkpoint": api.ErrDisk, "Commit": api.ErrOver, "Abort": api.ErrOver,
+		"Digest": api.ErrDisk, "Prove": api.ErrDisk, "Verify": api.ErrDisk, "Attest": api.ErrDisk,
 	}
 	begun := map[string]api.Kind{
 		"Begin": api.ErrBegun, "Create": api.ErrDisk, "Create of no name": api.ErrName, "Insert": api.ErrDisk, "Insert into no table": api.ErrTable,
 		"Update": api.ErrDisk, "Update of no row": api.ErrRow, "Delete": api.ErrDisk, "Delete of no row": api.ErrRow,
 		"Get": api.ErrDisk, "Get of no row": api.ErrNone, "Scan": api.ErrDisk, "Scan of no table": api.ErrTable, "History": api.ErrDisk, "History of no table": api.ErrTable,
 		"Transaction 1": api.ErrDisk, "Transaction 4": api.ErrDisk, "Transaction 0": api.ErrArg, "Checkpoint": api.ErrBegun, "Commit": api.ErrDisk, "Abort": 0,
+		"Digest": api.ErrDisk, "Prove": api.ErrDisk, "Verify": api.ErrDisk, "Attest": api.ErrDisk,
 	}
 	for _, q := range questions() {
 		for i, kinds := range []map[string]api.Kind{idle, begun} {
@@ -154,7 +197,7 @@ func TestDiesAtEachStep(t *testing.T) {
 			t.Errorf("P13: %s: the disk was hardly asked", name)
 		}
 	}
-	for _, name := range []string{"Get", "Scan", "History", "Transaction 1", "Abort"} {
+	for _, name := range []string{"Get", "Scan", "History", "Transaction 1", "Abort", "Digest", "Prove", "Verify", "Attest"} {
 		if most[name] > 0 {
 			t.Errorf("P16: %s has changed the disk", name)
 		}
