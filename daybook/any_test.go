@@ -1,6 +1,7 @@
 package daybook_test
 
 import (
+	"bytes"
 	"errors"
 	"fmt"
 	"math"
@@ -235,6 +236,52 @@ func (w *walk) get() {
 	}
 }
 
+// chain asks one of the methods of the chain, right or wrong.
+func (w *walk) chain() {
+	w.t.Helper()
+	g := w.kept.digests()[w.r.Intn(w.kept.closed()+1)]
+	var want error
+	if w.r.Intn(3) == 0 {
+		g.Hash[w.r.Intn(4)] ^= 1 << w.r.Intn(8)
+		want = api.ErrDigest
+	} else if w.r.Intn(4) == 0 {
+		g.Blocks = []int{-1, w.kept.closed() + 1, math.MaxInt, math.MinInt}[w.r.Intn(4)]
+		want = api.ErrDigest
+	}
+	switch w.r.Intn(4) {
+	case 0:
+		digestIs(w.t, w.what, w.b, w.kept)
+	case 1:
+		w.same("Verify", w.b.Verify(g), want)
+	case 2:
+		p, err := w.b.Prove(g)
+		w.same("Prove", err, want)
+		if want == nil && !bytes.Equal(p, w.kept.proof(g.Blocks)) || want != nil && p != nil {
+			w.t.Fatalf("P22: %s: Prove(%v) = %v", w.what, g, p)
+		}
+	default:
+		w.attest()
+	}
+}
+
+func (w *walk) attest() {
+	w.t.Helper()
+	n, op := w.r.Intn(len(w.kept)+3)-1, w.r.Intn(18)-1
+	if w.r.Intn(3) > 0 && n >= 1 && n <= len(w.kept) {
+		op %= len(w.kept[n-1].acts)
+	}
+	e, err := w.b.Attest(n, op)
+	if n < 1 || n > 3*w.kept.closed() || op < 0 || op >= len(w.kept[n-1].acts) {
+		w.same("Attest", err, api.ErrArg)
+		return
+	}
+	w.same("Attest", err, nil)
+	got, err := daybook.Attested(e, w.kept.digest())
+	if !bytes.Equal(e, w.kept.evidence(n, op)) || err != nil || !bytes.Equal(got, w.kept[n-1].acts[op].text()) {
+		w.t.Fatalf("P24: %s: Attest(%d, %d) = %v, Attested: %q, %v", w.what, n, op, e, got, err)
+	}
+}
+
 func (w *walk) commit() {
 	w.t.Helper()
 	n, err := w.b.Commit()
@@ -267,7 +314,7 @@ func (w *walk) step() {
 	} else {
 		begun = api.ErrBegun
 	}
-	switch k := w.r.Intn(60); {
+	switch k := w.r.Intn(64); {
 	case k < 38:
 		w.op()
 	case k < 40:
@@ -290,6 +337,8 @@ func (w *walk) step() {
 			w.d.Crash([]int{w.r.Intn(3), w.r.Intn(3), w.r.Intn(3)})
 		}
 		w.b, w.open = opened(w.t, w.d), nil
+	case k < 60:
+		w.chain()
 	default:
 		name := w.name()
 		if got, want := tablePicture(w.b, name), w.shown(name); got != want {

@@ -1,6 +1,7 @@
 package daybook_test
 
 import (
+	"bytes"
 	"sync"
 	"testing"
 
@@ -120,10 +121,7 @@ func TestTogether(t *testing.T) {
 				b.History("t")
 				b.Transaction(1 + r)
 				b.Checkpoint()
-				b.Digest()
-				b.Prove(api.Digest{})
-				b.Verify(api.Digest{})
-				b.Attest(1+r, 0)
+				asksChain(t, b, 1+r)
 			}
 		})
 	}
@@ -148,6 +146,39 @@ func TestTogether(t *testing.T) {
 	}
 	is(t, "P17: together", b, want)
 	is(t, "P17: together", opened(t, d), want)
+	staysRight(t, "together", b, want)
+}
+
+// asksChain asks all methods of the chain while others commit: what was right stays right, and what is told goes together.
+func asksChain(t *testing.T, b *daybook.DB, number int) {
+	old, err := b.Digest()
+	if err != nil {
+		t.Errorf("P21: Digest: %v", err)
+	}
+	proof, err := b.Prove(old)
+	headers, to := chained(old, lastBytes(proof)...)
+	if err != nil || !bytes.Equal(headers, proof) || daybook.Extends(old, to, proof) != nil {
+		t.Errorf("P22: Prove(%v) = %v, %v", old, proof, err)
+	}
+	if err := b.Verify(old); err != nil {
+		t.Errorf("P23: Verify: %v", err)
+	}
+	e, err := b.Attest(number, 0)
+	if (err == nil) != (number <= 3*old.Blocks) && err != nil {
+		t.Errorf("P24: Attest(%d, 0) behind %d blocks: %v", number, old.Blocks, err)
+	}
+	if err == nil && !bytes.HasPrefix(e, number4(number)) {
+		t.Errorf("P24: Attest(%d, 0) = %v", number, e)
+	}
+}
+
+// lastBytes are the roots that headers tell.
+func lastBytes(headers []byte) []api.Hash {
+	var all []api.Hash
+	for ; len(headers) >= api.HeaderSize; headers = headers[api.HeaderSize:] {
+		all = append(all, api.Hash(headers[9:13]))
+	}
+	return all
 }
 
 // mine is what one goroutine commits: whoever has begun has the transaction for itself, if the others ask it only what changes nothing.

@@ -92,6 +92,23 @@ func (x *bench) settle(t *testing.T, what string) {
 	}
 	x.may = nil
 	is(t, "P20: "+what, b, x.must)
+	staysRight(t, what, b, x.must)
+}
+
+// staysRight: what follows of the chain: the digests of earlier moments are right, and lead to the one of now.
+func staysRight(t *testing.T, what string, b *daybook.DB, l ledger) {
+	t.Helper()
+	all := l.digests()
+	last, err := b.Digest()
+	if err != nil || last != all[len(all)-1] {
+		t.Fatalf("P21: %s: Digest = %v, %v, want %v", what, last, err, all[len(all)-1])
+	}
+	fine(t, "P23: "+what+": Verify", b.Verify(last))
+	for i := 0; i < len(all); i += 1 + len(all)/3 {
+		p, err := b.Prove(all[i])
+		fine(t, "P22: "+what+": Prove", err)
+		fine(t, "P22: "+what+": Extends", daybook.Extends(all[i], last, p))
+	}
 }
 
 // run goes through a script on a disk that dies at a step, and shows what each crash leaves.

@@ -2,6 +2,7 @@ package daybook_test
 
 import (
 	"errors"
+	"maps"
 	"testing"
 
 	"daybook/api"
@@ -47,8 +48,14 @@ func questions() []question {
 		{"Prove", func(b *daybook.DB) (error, bool) { p, err := b.Prove(api.Digest{}); return err, p == nil }},
 		{"Verify", only(func(b *daybook.DB) error { return b.Verify(api.Digest{}) })},
 		{"Attest", func(b *daybook.DB) (error, bool) { e, err := b.Attest(1, 0); return err, e == nil }},
+		{"Prove of a block", func(b *daybook.DB) (error, bool) { p, err := b.Prove(firstBlock()); return err, p == nil }},
+		{"Verify of a block", only(func(b *daybook.DB) error { return b.Verify(firstBlock()) })},
+		{"Attest of a last op", func(b *daybook.DB) (error, bool) { e, err := b.Attest(3, 2); return err, e == nil }},
 	}
 }
+
+// firstBlock is the digest of the first block of most databases here.
+func firstBlock() api.Digest { return short().digest() }
 
 // wrongOfChain are the methods of the chain with what is wrong for any database.
 func wrongOfChain() []question {
@@ -58,6 +65,11 @@ func wrongOfChain() []question {
 		{"Verify of a wrong digest", only(func(b *daybook.DB) error { return b.Verify(wrong) })},
 		{"Attest of no transaction", func(b *daybook.DB) (error, bool) { e, err := b.Attest(0, 0); return err, e == nil }},
 		{"Attest of no op", func(b *daybook.DB) (error, bool) { e, err := b.Attest(1, -1); return err, e == nil }},
+		{"Attest of too great an op", func(b *daybook.DB) (error, bool) { e, err := b.Attest(1, 16); return err, e == nil }},
+		{"Prove of no block with a hash", func(b *daybook.DB) (error, bool) {
+			p, err := b.Prove(api.Digest{Hash: api.Hash{1}})
+			return err, p == nil
+		}},
 	}
 }
 
@@ -131,16 +143,22 @@ func TestDeadDisk(t *testing.T) {
 		"Update": api.ErrOver, "Update of no row": api.ErrOver, "Delete": api.ErrOver, "Delete of no row": api.ErrOver,
 		"Get": api.ErrDisk, "Get of no row": api.ErrNone, "Scan": api.ErrDisk, "Scan of no table": api.ErrTable, "History": api.ErrDisk, "History of no table": api.ErrTable,
 		"Transaction 1": api.ErrDisk, "Transaction 4": api.ErrDisk, "Transaction 0": api.ErrArg, "Checkpoint": api.ErrDisk, "Commit": api.ErrOver, "Abort": api.ErrOver,
-		"Digest": api.ErrDisk, "Prove": api.ErrDisk, "Verify": api.ErrDisk, "Attest": api.ErrDisk,
 	}
 	begun := map[string]api.Kind{
 		"Begin": api.ErrBegun, "Create": api.ErrDisk, "Create of no name": api.ErrName, "Insert": api.ErrDisk, "Insert into no table": api.ErrTable,
 		"Update": api.ErrDisk, "Update of no row": api.ErrRow, "Delete": api.ErrDisk, "Delete of no row": api.ErrRow,
 		"Get": api.ErrDisk, "Get of no row": api.ErrNone, "Scan": api.ErrDisk, "Scan of no table": api.ErrTable, "History": api.ErrDisk, "History of no table": api.ErrTable,
 		"Transaction 1": api.ErrDisk, "Transaction 4": api.ErrDisk, "Transaction 0": api.ErrArg, "Checkpoint": api.ErrBegun, "Commit": api.ErrDisk, "Abort": 0,
-		"Digest": api.ErrDisk, "Prove": api.ErrDisk, "Verify": api.ErrDisk, "Attest": api.ErrDisk,
 	}
-	for _, q := range questions() {
+	chain := map[string]api.Kind{
+		"Digest": api.ErrDisk, "Prove": api.ErrDisk, "Verify": api.ErrDisk, "Attest": api.ErrDisk,
+		"Prove of a block": api.ErrDisk, "Verify of a block": api.ErrDisk, "Attest of a last op": api.ErrDisk,
+		"Prove of a wrong digest": api.ErrDigest, "Verify of a wrong digest": api.ErrDigest, "Prove of no block with a hash": api.ErrDigest,
+		"Attest of no transaction": api.ErrArg, "Attest of no op": api.ErrArg, "Attest of too great an op": api.ErrArg,
+	}
+	maps.Copy(idle, chain)
+	maps.Copy(begun, chain)
+	for _, q := range append(questions(), wrongOfChain()...) {
 		for i, kinds := range []map[string]api.Kind{idle, begun} {
 			d, b := made(t, 640, short()...)
 			if i == 1 {
@@ -197,9 +215,12 @@ func TestDiesAtEachStep(t *testing.T) {
 			t.Errorf("P13: %s: the disk was hardly asked", name)
 		}
 	}
-	for _, name := range []string{"Get", "Scan", "History", "Transaction 1", "Abort", "Digest", "Prove", "Verify", "Attest"} {
+	for _, name := range []string{"Get", "Scan", "History", "Transaction 1", "Abort", "Digest", "Prove", "Prove of a block", "Attest"} {
 		if most[name] > 0 {
 			t.Errorf("P16: %s has changed the disk", name)
 		}
+	}
+	if most["Verify of a block"] > 1 { // it makes sure of the log, which is opened anew
+		t.Error("P23: Verify has changed the disk")
 	}
 }

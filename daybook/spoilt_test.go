@@ -38,6 +38,11 @@ func bears(t *testing.T, what string, d *disk.Disk, l ledger, least int) {
 		t.Fatalf("P13: %s: %d transactions, of %d", what, n, len(l))
 	}
 	is(t, "P13: "+what, b, l[:n])
+	for _, g := range []api.Digest{l.digests()[n/3], l.digest()} {
+		if err := b.Verify(g); (err == nil) != (3*g.Blocks <= n) {
+			t.Fatalf("P23: %s: Verify(%v) of a database of %d transactions: %v", what, g, n, err)
+		}
+	}
 	for _, q := range questions() {
 		answersWell(t, what, b, q)
 	}

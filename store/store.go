@@ -5,6 +5,7 @@ package store
 import (
 	"errors"
 	"math"
+	"slices"
 
 	"daybook/api"
 	"daybook/disk"
@@ -68,16 +69,19 @@ func Open(d *disk.Disk) (*Store, []string, error) {
 	if err != nil {
 		return nil, nil, err
 	}
-	if s.log, err = wal.Open(d, 0, logSectors); err != nil {
+	if s.log, err = openLog(d); err != nil {
 		return nil, nil, err
 	}
-	if all, err = s.withLog(all); err != nil {
-		return nil, nil, err
+	if s.isCutOff(all) {
+		if err := s.log.Reset(); err != nil {
+			return nil, nil, err
+		}
 	}
+	all, ok := withLog(all, entriesOf(s.log))
 	for _, text := range all {
 		s.keep(text)
 	}
-	if s.count < t.count || s.taken > s.room() {
+	if !ok || s.count < t.count || s.taken > s.room() {
 		return nil, nil, api.ErrForm
 	}
 	return s, all, nil
@@ -115,28 +119,29 @@ func (s *Store) inTree() ([]string, error) {
 // tree is the tree as it was saved last. It is opened anew each time: so a change that comes to nothing leaves no trace.
 func (s *Store) tree() (*tree.Tree, error) { return tree.Open(s.disk, treeAt, treeSectors(s.disk)) }
 
-// withLog is all that the tree has, and what the log has behind it.
-func (s *Store) withLog(all []string) ([]string, error) {
+func openLog(d *disk.Disk) (*wal.Log, error) { return wal.Open(d, 0, logSectors) }
+
+// isCutOff tells whether what was ahead of the log is no more, for a Create was under way. Then the log is to be empty, too.
+func (s *Store) isCutOff(inTree []string) bool {
 	entries := entriesOf(s.log)
+	return s.tally.count == 0 && len(inTree) == 0 && len(entries) > 0 && entries[0].number > 1
+}
+
+// withLog is all that the tree has, and what the log has behind it; false: they do not go together.
+func withLog(all []string, entries []entry) ([]string, bool) {
 	if len(entries) == 0 {
-		return all, nil
+		return all, true
 	}
 	first := entries[0].number
-	if s.tally.count == 0 && len(all) == 0 && first > 1 {
-		return nil, s.log.Reset() // what was ahead of these is no more, for a Create was under way
-	}
 	for i, e := range entries {
 		if e.number == len(all)+1 {
 			all = append(all, e.text)
 		}
 		if e.number != first+i || e.number < 1 || e.number > len(all) || all[e.number-1] != e.text {
-			return nil, api.ErrForm
+			return nil, false
 		}
 	}
-	if first+len(entries)-1 < len(all) {
-		return nil, api.ErrForm
-	}
-	return all, nil
+	return all, first+len(entries)-1 >= len(all)
 }
 
 // Count is how many payloads there are.
@@ -226,4 +231,29 @@ func (s *Store) Get(number int) (string, error) {
 		return "", api.ErrForm
 	}
 	return e.text, nil
+}
+
+// All tells all payloads, in order, each as Get tells it.
+func (s *Store) All() ([]string, error) {
+	all, err := s.inTree()
+	if err != nil {
+		return nil, err
+	}
+	all, ok := withLog(all, entriesOf(s.log))
+	if !ok || len(all) != s.count {
+		return nil, api.ErrForm
+	}
+	return all, nil
+}
+
+// Again is All, and looks at all that is on the disk: at the log, too, though it is known what that had.
+func (s *Store) Again() ([]string, error) {
+	l, err := openLog(s.disk)
+	if err != nil {
+		return nil, err
+	}
+	if !slices.Equal(entriesOf(l), entriesOf(s.log)) {
+		return nil, api.ErrForm
+	}
+	return s.All()
 }

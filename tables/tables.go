@@ -36,6 +36,19 @@ func (t Tables) Copy() Tables {
 	return other
 }
 
+// Same tells whether these and others are the same in all that can be told of them, now or later.
+func (t Tables) Same(other Tables) bool {
+	return maps.EqualFunc(t, other, func(x, y *table) bool {
+		return slices.Equal(x.columns, y.columns) && maps.EqualFunc(x.rows, y.rows, sameRow) && slices.EqualFunc(x.past, y.past, sameVersion)
+	})
+}
+
+func sameRow(a, b row) bool { return a.from == b.from && slices.Equal(a.values, b.values) }
+
+func sameVersion(a, b api.Version) bool {
+	return a.From == b.From && a.To == b.To && slices.Equal(a.Row, b.Row)
+}
+
 // Check tells what is wrong with an op: the first of what P14 and P15 name.
 func (t Tables) Check(o payload.Op) error {
 	if o.Kind == payload.Create {

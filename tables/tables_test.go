@@ -113,3 +113,47 @@ func TestHistoryUpTo(t *testing.T) {
 		t.Errorf("History = %v, want %v", all, want)
 	}
 }
+
+// Same tells of each thing in which two can differ, seen now or later.
+func TestSame(t *testing.T) {
+	make := func() tables.Tables {
+		x := tables.Tables{}
+		do(t, x, 1, create("t"), op(payload.Insert, "t", 1, 10), op(payload.Insert, "t", 2, 20))
+		do(t, x, 2, op(payload.Update, "t", 1, 11))
+		return x
+	}
+	other := func(numbers [4]int, ops ...payload.Op) tables.Tables {
+		x := tables.Tables{}
+		for i, o := range ops {
+			do(t, x, numbers[i], o)
+		}
+		return x
+	}
+	one := [4]int{1, 1, 1, 2}
+	columns := payload.Op{Kind: payload.Create, Table: "t", Columns: []api.Column{{Name: "k", Type: api.Int}, {Name: "m", Type: api.Int}}}
+	if x := make(); !x.Same(make()) || !make().Same(x) || !x.Same(x.Copy()) || !(tables.Tables{}).Same(tables.Tables{}) {
+		t.Error("the same are not the same")
+	}
+	for what, x := range map[string]tables.Tables{
+		"nothing":                  {},
+		"a table of another name":  other(one, create("u"), op(payload.Insert, "u", 1, 10), op(payload.Insert, "u", 2, 20), op(payload.Update, "u", 1, 11)),
+		"another column":           other(one, columns, op(payload.Insert, "t", 1, 10), op(payload.Insert, "t", 2, 20), op(payload.Update, "t", 1, 11)),
+		"another value":            other(one, create("t"), op(payload.Insert, "t", 1, 10), op(payload.Insert, "t", 2, 21), op(payload.Update, "t", 1, 11)),
+		"another key":              other(one, create("t"), op(payload.Insert, "t", 1, 10), op(payload.Insert, "t", 3, 20), op(payload.Update, "t", 1, 11)),
+		"a row less":               other([4]int{1, 1, 2}, create("t"), op(payload.Insert, "t", 1, 10), op(payload.Update, "t", 1, 11)),
+		"a row that is no more":    other(one, create("t"), op(payload.Insert, "t", 1, 10), op(payload.Insert, "t", 2, 20)),
+		"another row of the past":  other(one, create("t"), op(payload.Insert, "t", 1, 12), op(payload.Insert, "t", 2, 20), op(payload.Update, "t", 1, 11)),
+		"a row made later":         other([4]int{1, 1, 2, 2}, create("t"), op(payload.Insert, "t", 1, 10), op(payload.Insert, "t", 2, 20), op(payload.Update, "t", 1, 11)),
+		"a past row made later":    other([4]int{1, 2, 1, 2}, create("t"), op(payload.Insert, "t", 1, 10), op(payload.Insert, "t", 2, 20), op(payload.Update, "t", 1, 11)),
+		"a past row ended earlier": other([4]int{1, 1, 1, 1}, create("t"), op(payload.Insert, "t", 1, 10), op(payload.Insert, "t", 2, 20), op(payload.Update, "t", 1, 11)),
+	} {
+		if x.Same(make()) || make().Same(x) {
+			t.Errorf("others with %s are taken for the same", what)
+		}
+	}
+	more := make()
+	do(t, more, 3, create("u"))
+	if more.Same(make()) || make().Same(more) {
+		t.Error("one table more is taken for the same")
+	}
+}
