@@ -119,6 +119,17 @@ func TestNoEvidence(t *testing.T) {
 			}
 		}
 	}
+	for _, l := range []ledger{short()[:3], times()[:3], times()[:6]} { // nothing comes behind the last bytes, which may be noughts
+		for n := len(l) - 2; n <= len(l); n++ {
+			e, g := l.evidence(n, 0), l.digest()
+			for k := range len(e) {
+				noEvidence(t, "of the last block, cut off", e[:k], g)
+			}
+			for more := 1; more <= 2*api.HeaderSize; more++ {
+				noEvidence(t, "of the last block, with bytes behind", append(slices.Clone(e), make([]byte, more)...), g)
+			}
+		}
+	}
 	noEvidence(t, "nil", nil, api.Digest{})
 	noEvidence(t, "nil", nil, last)
 	for _, k := range []int{1, 20, 30, 60, 1000, 70000} {

@@ -197,6 +197,17 @@ func TestExtendsOneThing(t *testing.T) {
 		p, to := resum(func(h []byte) { h[12]++ }, n)
 		fine(t, "P22: Extends with another root", daybook.Extends(start, to, p))
 	}
+	// Bytes that are missing are not noughts, and none may be too many.
+	for n := range len(roots) + 1 {
+		proof, end := chained(start, make([]api.Hash, n)...)
+		fine(t, "P22: Extends by noughts", daybook.Extends(start, end, proof))
+		for k := 1; k <= min(len(proof), api.HeaderSize); k++ {
+			noProof(t, "without the noughts at its end", start, end, proof[:len(proof)-k])
+		}
+		for k := 1; k <= api.HeaderSize; k++ {
+			noProof(t, "with noughts behind it", start, end, append(slices.Clone(proof), make([]byte, k)...))
+		}
+	}
 	// A hash that is met by bytes that are not laid out as a header (see P3: a + 1 and b - 33).
 	other := slices.Clone(proof)
 	other[0], other[1] = 'A', 33
